@@ -7,58 +7,15 @@ import (
 	"testing"
 
 	"conclave/api"
+	"conclave/sample"
 )
-
-var fields = []api.Field{api.Small, api.Large}
-
-var primes = map[api.Field]uint64{api.Small: 2013265921, api.Large: 18446744069414584321}
-
-// edges are the elements at which words, halves of words and the primes' shapes come to an end.
-func edges(f api.Field) []uint64 {
-	p := primes[f]
-	l := []uint64{0, 1, 2, 3, 7, 31, p / 2, p/2 + 1, p - 3, p - 2, p - 1}
-	for _, n := range []int{15, 16, 26, 27, 30, 31, 32, 33, 62, 63} {
-		for _, a := range []uint64{1<<n - 1, 1 << n, 1<<n + 1} {
-			l = append(l, a%p)
-		}
-	}
-	l = append(l, (1<<64-1<<32)%p, (1<<32-1)<<31%p)
-	slices.Sort(l)
-	return slices.Compact(l)
-}
-
-// scattered are n elements without any order, the same ones each time.
-func scattered(f api.Field, n int) []uint64 {
-	l := make([]uint64, n)
-	x := uint64(88172645463325252)
-	for i := range l {
-		x ^= x << 13
-		x ^= x >> 7
-		x ^= x << 17
-		l[i] = x % primes[f]
-	}
-	return l
-}
-
-func elements(f api.Field) []uint64 {
-	return append(edges(f), scattered(f, 60)...)
-}
-
-func notZero(l []uint64) []uint64 {
-	return slices.DeleteFunc(slices.Clone(l), func(a uint64) bool { return a == 0 })
-}
-
-func outside(f api.Field) []uint64 {
-	p := primes[f]
-	return []uint64{p, p + 1, math.MaxUint64}
-}
 
 func large(a uint64) *big.Int { return new(big.Int).SetUint64(a) }
 
 // by is what a call of big numbers answers, brought down by the prime.
 func by(f api.Field, do func(z, a, b *big.Int) *big.Int, a, b uint64) uint64 {
 	z := do(new(big.Int), large(a), large(b))
-	return z.Mod(z, large(primes[f])).Uint64()
+	return z.Mod(z, large(sample.Prime(f))).Uint64()
 }
 
 type binary func(f api.Field, a, b uint64) (uint64, api.Errno)
@@ -86,7 +43,8 @@ func good(t *testing.T) func(x uint64, e api.Errno) uint64 {
 func TestPrimeOfEveryField(t *testing.T) {
 	for n := range 256 {
 		f := api.Field(n)
-		p, ok := primes[f]
+		p := sample.Prime(f)
+		ok := p != 0
 		e := api.OK
 		if !ok {
 			e = api.ErrArg
@@ -100,16 +58,16 @@ func TestPrimeOfEveryField(t *testing.T) {
 }
 
 func TestInAtThePrimes(t *testing.T) {
-	for _, f := range fields {
-		for _, a := range elements(f) {
+	for _, f := range sample.Fields() {
+		for _, a := range sample.Elements(f) {
 			if !In(f, a) {
 				t.Errorf("In(%d, %d) is false", f, a)
 			}
 		}
-		if !In(f, elements(f)...) {
+		if !In(f, sample.Elements(f)...) {
 			t.Errorf("In(%d) of its elements is false", f)
 		}
-		for _, a := range outside(f) {
+		for _, a := range sample.Outside(f) {
 			for _, l := range [][]uint64{{a}, {a, 0, 1}, {0, a, 1}, {0, 1, a}, {a, a}} {
 				if In(f, l...) || In(api.NoField, l...) {
 					t.Errorf("In(%d, %d) is true", f, l)
@@ -117,7 +75,7 @@ func TestInAtThePrimes(t *testing.T) {
 			}
 		}
 	}
-	if In(api.Small, primes[api.Large]-1) || !In(api.Large, primes[api.Small]) {
+	if In(api.Small, sample.Prime(api.Large)-1) || !In(api.Large, sample.Prime(api.Small)) {
 		t.Errorf("In takes the one field for the other")
 	}
 }
@@ -125,8 +83,8 @@ func TestInAtThePrimes(t *testing.T) {
 // P1.2
 
 func TestSumsDifferencesProducts(t *testing.T) {
-	for _, f := range fields {
-		l := elements(f)
+	for _, f := range sample.Fields() {
+		l := sample.Elements(f)
 		for _, a := range l {
 			for _, b := range l {
 				ab := []uint64{a, b}
@@ -142,10 +100,10 @@ func TestSumsDifferencesProducts(t *testing.T) {
 }
 
 func TestPowers(t *testing.T) {
-	for _, f := range fields {
-		p := primes[f]
-		exponents := append([]uint64{0, 1, 2, 3, 63, 64, p - 2, p - 1, p, p + 1, 2*p - 2, 1<<63 - 1, 1 << 63, math.MaxUint64 - 1, math.MaxUint64}, scattered(api.Large, 20)...)
-		for _, a := range elements(f) {
+	for _, f := range sample.Fields() {
+		p := sample.Prime(f)
+		exponents := append([]uint64{0, 1, 2, 3, 63, 64, p - 2, p - 1, p, p + 1, 2*p - 2, 1<<63 - 1, 1 << 63, math.MaxUint64 - 1, math.MaxUint64}, sample.Scattered(api.Large, 20)...)
+		for _, a := range sample.Elements(f) {
 			for _, n := range exponents {
 				power := func(z, a, n *big.Int) *big.Int { return z.Exp(a, n, large(p)) }
 				x, e := Pow(f, a, n)
@@ -160,9 +118,9 @@ func TestPowers(t *testing.T) {
 }
 
 func TestPowerIsManyFactors(t *testing.T) {
-	for _, f := range fields {
+	for _, f := range sample.Fields() {
 		must := good(t)
-		for _, a := range elements(f) {
+		for _, a := range sample.Elements(f) {
 			product := uint64(1)
 			for n := range uint64(40) {
 				if x := must(Pow(f, a, n)); x != product {
@@ -178,14 +136,14 @@ func TestPowerIsManyFactors(t *testing.T) {
 
 func TestWrongArguments(t *testing.T) {
 	for what, do := range map[string]binary{"Add": Add, "Sub": Sub, "Mul": Mul, "Div": Div} {
-		for _, f := range []api.Field{api.NoField, 3, 255} {
+		for _, f := range sample.NoFields() {
 			for _, b := range []uint64{0, 1, math.MaxUint64} {
 				x, e := do(f, 1, b)
 				want(t, what, f, []uint64{1, b}, x, e, 0, api.ErrArg)
 			}
 		}
-		for _, f := range fields {
-			for _, a := range outside(f) {
+		for _, f := range sample.Fields() {
+			for _, a := range sample.Outside(f) {
 				for _, l := range [][]uint64{{a, 0}, {0, a}, {a, 1}, {1, a}, {a, a}} {
 					x, e := do(f, l[0], l[1])
 					want(t, what, f, l, x, e, 0, api.ErrArg)
@@ -198,14 +156,14 @@ func TestWrongArguments(t *testing.T) {
 		"Pow 0": func(f api.Field, a uint64) (uint64, api.Errno) { return Pow(f, a, 0) },
 		"Pow 5": func(f api.Field, a uint64) (uint64, api.Errno) { return Pow(f, a, 5) },
 	} {
-		for _, f := range []api.Field{api.NoField, 3, 255} {
+		for _, f := range sample.NoFields() {
 			for _, a := range []uint64{0, 1, math.MaxUint64} {
 				x, e := do(f, a)
 				want(t, what, f, []uint64{a}, x, e, 0, api.ErrArg)
 			}
 		}
-		for _, f := range fields {
-			for _, a := range outside(f) {
+		for _, f := range sample.Fields() {
+			for _, a := range sample.Outside(f) {
 				x, e := do(f, a)
 				want(t, what, f, []uint64{a}, x, e, 0, api.ErrArg)
 			}
@@ -216,20 +174,20 @@ func TestWrongArguments(t *testing.T) {
 // P1.3
 
 func TestInverses(t *testing.T) {
-	for _, f := range fields {
-		for _, b := range notZero(elements(f)) {
+	for _, f := range sample.Fields() {
+		for _, b := range sample.NotZero(sample.Elements(f)) {
 			inverse := large(b)
-			inverse.ModInverse(inverse, large(primes[f]))
+			inverse.ModInverse(inverse, large(sample.Prime(f)))
 			x, e := Inv(f, b)
 			want(t, "Inv", f, []uint64{b}, x, e, inverse.Uint64(), api.OK)
-			for _, a := range elements(f) {
+			for _, a := range sample.Elements(f) {
 				x, e = Div(f, a, b)
 				want(t, "Div", f, []uint64{a, b}, x, e, by(f, (*big.Int).Mul, a, inverse.Uint64()), api.OK)
 			}
 		}
 		x, e := Inv(f, 0)
 		want(t, "Inv", f, []uint64{0}, x, e, 0, api.ErrZero)
-		for _, a := range elements(f) {
+		for _, a := range sample.Elements(f) {
 			x, e = Div(f, a, 0)
 			want(t, "Div", f, []uint64{a, 0}, x, e, 0, api.ErrZero)
 		}
@@ -237,10 +195,10 @@ func TestInverses(t *testing.T) {
 }
 
 func TestBatch(t *testing.T) {
-	for _, f := range fields {
+	for _, f := range sample.Fields() {
 		// Longer than MaxPoly: this layer has no limit.
-		long := notZero(scattered(f, api.MaxPoly+5))
-		for _, l := range [][]uint64{nil, {}, {1}, {2}, {primes[f] - 1}, {5, 5, 5}, notZero(edges(f)), long} {
+		long := sample.NotZero(sample.Scattered(f, api.MaxPoly+5))
+		for _, l := range [][]uint64{nil, {}, {1}, {2}, {sample.Prime(f) - 1}, {5, 5, 5}, sample.NotZero(sample.Edges(f)), long} {
 			x, e := Batch(f, l)
 			if e != api.OK || len(x) != len(l) {
 				t.Fatalf("Batch(%d) of %d elements: %d, %d", f, len(l), len(x), e)
@@ -255,8 +213,8 @@ func TestBatch(t *testing.T) {
 }
 
 func TestBatchErrors(t *testing.T) {
-	for _, f := range fields {
-		p := primes[f]
+	for _, f := range sample.Fields() {
+		p := sample.Prime(f)
 		for _, c := range []struct {
 			f api.Field
 			l []uint64
@@ -284,26 +242,26 @@ func TestBatchErrors(t *testing.T) {
 // P1.4
 
 func TestDot(t *testing.T) {
-	for _, f := range fields {
-		top := primes[f] - 1
+	for _, f := range sample.Fields() {
+		top := sample.Prime(f) - 1
 		for _, c := range [][2][]uint64{
 			{nil, nil}, {{}, nil}, {nil, {}},
 			{{0}, {top}}, {{top}, {top}}, {{1, 2}, {3, 4}},
 			{{top, top, top}, {top, top, top}},
-			{scattered(f, api.MaxPoly+5), slices.Repeat([]uint64{top}, api.MaxPoly+5)},
-			{elements(f), scattered(f, len(elements(f)))},
+			{sample.Scattered(f, api.MaxPoly+5), slices.Repeat([]uint64{top}, api.MaxPoly+5)},
+			{sample.Elements(f), sample.Scattered(f, len(sample.Elements(f)))},
 		} {
 			a, b := c[0], c[1]
 			sum := new(big.Int)
 			for i := range a {
 				sum.Add(sum, new(big.Int).Mul(large(a[i]), large(b[i])))
 			}
-			sum.Mod(sum, large(primes[f]))
+			sum.Mod(sum, large(sample.Prime(f)))
 			if x, e := Dot(f, a, b); x != sum.Uint64() || e != api.OK {
 				t.Errorf("Dot(%d) of %d elements = %d, %d, not %d", f, len(a), x, e, sum)
 			}
 		}
-		l := scattered(f, 50)
+		l := sample.Scattered(f, 50)
 		if x, e := Dot(f, l, l); e != api.OK || !sameAsSquares(f, l, x) {
 			t.Errorf("Dot(%d) of a list and itself = %d, %d", f, x, e)
 		}
@@ -319,8 +277,8 @@ func sameAsSquares(f api.Field, l []uint64, x uint64) bool {
 }
 
 func TestDotErrors(t *testing.T) {
-	for _, f := range fields {
-		p := primes[f]
+	for _, f := range sample.Fields() {
+		p := sample.Prime(f)
 		for _, c := range []struct {
 			f    api.Field
 			a, b []uint64
@@ -349,11 +307,11 @@ func TestDotErrors(t *testing.T) {
 // P1.5
 
 func TestOrderAndGrouping(t *testing.T) {
-	for _, f := range fields {
+	for _, f := range sample.Fields() {
 		must := good(t)
 		add := func(a, b uint64) uint64 { return must(Add(f, a, b)) }
 		mul := func(a, b uint64) uint64 { return must(Mul(f, a, b)) }
-		l := append(edges(f), scattered(f, 5)...)
+		l := append(sample.Edges(f), sample.Scattered(f, 5)...)
 		for _, a := range l {
 			for _, b := range l {
 				if add(a, b) != add(b, a) || mul(a, b) != mul(b, a) || must(Sub(f, add(a, b), b)) != a {
@@ -373,9 +331,9 @@ func TestOrderAndGrouping(t *testing.T) {
 }
 
 func TestDotHangsOnNoOrder(t *testing.T) {
-	for _, f := range fields {
+	for _, f := range sample.Fields() {
 		must := good(t)
-		a, b := elements(f), scattered(f, len(elements(f)))
+		a, b := sample.Elements(f), sample.Scattered(f, len(sample.Elements(f)))
 		x := must(Dot(f, a, b))
 		if y := must(Dot(f, b, a)); x != y {
 			t.Errorf("Dot(%d): %d one way, %d the other", f, x, y)
@@ -389,21 +347,21 @@ func TestDotHangsOnNoOrder(t *testing.T) {
 }
 
 func TestPowersOneAndTwoBelowThePrime(t *testing.T) {
-	for _, f := range fields {
+	for _, f := range sample.Fields() {
 		must := good(t)
-		for _, a := range notZero(elements(f)) {
-			if x := must(Pow(f, a, primes[f]-1)); x != 1 {
+		for _, a := range sample.NotZero(sample.Elements(f)) {
+			if x := must(Pow(f, a, sample.Prime(f)-1)); x != 1 {
 				t.Errorf("Pow(%d, %d, prime - 1) = %d", f, a, x)
 			}
 			x := must(Inv(f, a))
-			if y := must(Pow(f, a, primes[f]-2)); x != y {
+			if y := must(Pow(f, a, sample.Prime(f)-2)); x != y {
 				t.Errorf("Inv(%d, %d) = %d, and the power is %d", f, a, x, y)
 			}
 			if y := must(Mul(f, a, x)); y != 1 {
 				t.Errorf("%d times its inverse %d is %d in field %d", a, x, y, f)
 			}
 		}
-		if x := must(Pow(f, 0, primes[f]-1)); x != 0 {
+		if x := must(Pow(f, 0, sample.Prime(f)-1)); x != 0 {
 			t.Errorf("Pow(%d, 0, prime - 1) = %d", f, x)
 		}
 	}
@@ -411,17 +369,11 @@ func TestPowersOneAndTwoBelowThePrime(t *testing.T) {
 
 // Rule 5: what is handed in stays as it is, and what is answered is new memory.
 
-// roomy is a list with room behind its end, and the whole of what it stands in.
-func roomy(l ...uint64) (list, whole []uint64) {
-	whole = append(slices.Clone(l), 71, 72, 73)
-	return whole[:len(l)], whole
-}
-
 func TestHandedInStays(t *testing.T) {
-	for _, f := range fields {
-		for _, l := range [][]uint64{{}, {1, 2, 3}, {primes[f] - 1, 5}, {1, 0}, {0, primes[f]}} {
-			a, wholeA := roomy(l...)
-			b, wholeB := roomy(l...)
+	for _, f := range sample.Fields() {
+		for _, l := range [][]uint64{{}, {1, 2, 3}, {sample.Prime(f) - 1, 5}, {1, 0}, {0, sample.Prime(f)}} {
+			a, wholeA := sample.Roomy(l...)
+			b, wholeB := sample.Roomy(l...)
 			beforeA, beforeB := slices.Clone(wholeA), slices.Clone(wholeB)
 			In(f, a...)
 			Batch(f, a)
@@ -436,10 +388,10 @@ func TestHandedInStays(t *testing.T) {
 }
 
 func TestAnswersAreNewMemory(t *testing.T) {
-	for _, f := range fields {
+	for _, f := range sample.Fields() {
 		// 1 and the prime less 1 are their own inverses: the very list would be a right answer, but for its memory.
-		top := primes[f] - 1
-		l, whole := roomy(1, top, 1)
+		top := sample.Prime(f) - 1
+		l, whole := sample.Roomy(1, top, 1)
 		before := slices.Clone(whole)
 		x, e := Batch(f, l)
 		y, r := Batch(f, l)

@@ -1,0 +1,72 @@
+// Package sample holds the elements with which the layers' tests try their calls. No layer calls it, and it calls none, so that every layer's tests may lean on it.
+package sample
+
+import (
+	"math"
+	"slices"
+
+	"conclave/api"
+)
+
+func Fields() []api.Field { return []api.Field{api.Small, api.Large} }
+
+// NoFields are numbers that stand for no field.
+func NoFields() []api.Field { return []api.Field{api.NoField, 3, 255} }
+
+// Prime is written out once more here, so that a wrong one in a layer is seen; it is 0, if there is no such field.
+func Prime(f api.Field) uint64 {
+	switch f {
+	case api.Small:
+		return 2013265921
+	case api.Large:
+		return 18446744069414584321
+	}
+	return 0
+}
+
+// Edges are the elements at which words, halves of words and the primes' shapes come to an end.
+func Edges(f api.Field) []uint64 {
+	p := Prime(f)
+	l := []uint64{0, 1, 2, 3, 7, 31, p / 2, p/2 + 1, p - 3, p - 2, p - 1}
+	for _, n := range []int{15, 16, 26, 27, 30, 31, 32, 33, 62, 63} {
+		for _, a := range []uint64{1<<n - 1, 1 << n, 1<<n + 1} {
+			l = append(l, a%p)
+		}
+	}
+	l = append(l, (1<<64-1<<32)%p, (1<<32-1)<<31%p)
+	slices.Sort(l)
+	return slices.Compact(l)
+}
+
+// Scattered are n elements without any order, the same ones each time.
+func Scattered(f api.Field, n int) []uint64 {
+	l := make([]uint64, n)
+	x := uint64(88172645463325252)
+	for i := range l {
+		x ^= x << 13
+		x ^= x >> 7
+		x ^= x << 17
+		l[i] = x % Prime(f)
+	}
+	return l
+}
+
+func Elements(f api.Field) []uint64 {
+	return append(Edges(f), Scattered(f, 60)...)
+}
+
+// Outside are numbers that are no elements of the field.
+func Outside(f api.Field) []uint64 {
+	p := Prime(f)
+	return []uint64{p, p + 1, math.MaxUint64}
+}
+
+func NotZero(l []uint64) []uint64 {
+	return slices.DeleteFunc(slices.Clone(l), func(a uint64) bool { return a == 0 })
+}
+
+// Roomy is a list with room behind its end, and the whole of what it stands in.
+func Roomy(l ...uint64) (list, whole []uint64) {
+	whole = append(slices.Clone(l), 71, 72, 73)
+	return whole[:len(l)], whole
+}
