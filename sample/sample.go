@@ -1,4 +1,4 @@
-// Package sample holds the elements with which the layers' tests try their calls. No layer calls it, and it calls none, so that every layer's tests may lean on it.
+// Package sample holds the elements and lists with which the layers' tests try their calls. No layer calls it, and it calls none, so that every layer's tests may lean on it.
 package sample
 
 import (
@@ -69,4 +69,27 @@ func NotZero(l []uint64) []uint64 {
 func Roomy(l ...uint64) (list, whole []uint64) {
 	whole = append(slices.Clone(l), 71, 72, 73)
 	return whole[:len(l)], whole
+}
+
+// Polys are lists as polynomials: 0 with none and with noughts alone, single elements, noughts at the front, within and at the end, and some without any order.
+func Polys(f api.Field) [][]uint64 {
+	top := Prime(f) - 1
+	l := [][]uint64{
+		nil, {}, {0}, {0, 0, 0},
+		{1}, {top}, {2, 0}, {top, 0, 0},
+		{0, 1}, {1, 1}, {top, 1}, {1, top}, {0, 0, 0, 5},
+		{1, 0, 2, 0}, {top, top, top, top}, {1, 2, 0, 0, 3},
+		Edges(f),
+	}
+	rest := Scattered(f, 200)
+	for _, n := range []int{1, 2, 3, 5, 8, 17, 40} {
+		l = append(l, rest[:n:n])
+		rest = rest[n:]
+	}
+	return l
+}
+
+// Power is x to the power n, as a list of n + 1 elements.
+func Power(n int) []uint64 {
+	return append(make([]uint64, n), 1)
 }
