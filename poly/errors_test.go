@@ -4,26 +4,11 @@ package poly
 
 import (
 	"math"
-	"strconv"
-	"strings"
 	"testing"
 
 	"conclave/api"
 	"conclave/sample"
 )
-
-// brief tells a list that may be long.
-func brief(p []uint64) string {
-	var b strings.Builder
-	for i, a := range p {
-		if i == 12 {
-			b.WriteString(".. ")
-			break
-		}
-		b.WriteString(strconv.FormatUint(a, 10) + " ")
-	}
-	return "(" + b.String() + "of " + strconv.Itoa(len(p)) + ")"
-}
 
 // calls are the calls that take two polynomials, each as one that answers all its lists.
 func calls() map[string]func(f api.Field, p, q []uint64) ([][]uint64, api.Errno) {
@@ -48,37 +33,18 @@ func wantError(t *testing.T, f api.Field, p, q []uint64, e api.Errno) {
 	for what, do := range calls() {
 		lists, r := do(f, p, q)
 		if r != e {
-			t.Errorf("%s(%d, %s, %s): %d, not %d", what, f, brief(p), brief(q), r, e)
+			t.Errorf("%s(%d, %s, %s): %d, not %d", what, f, sample.Brief(p), sample.Brief(q), r, e)
 		}
 		for _, x := range lists {
 			if len(x) != 0 {
-				t.Errorf("%s(%d, %s, %s): %d, and %s beside it", what, f, brief(p), brief(q), r, brief(x))
+				t.Errorf("%s(%d, %s, %s): %d, and %s beside it", what, f, sample.Brief(p), sample.Brief(q), r, sample.Brief(x))
 			}
 		}
 	}
 }
 
-// faulty are lists that are no lists of elements, short ones and ones past the limit.
-func faulty(f api.Field) [][]uint64 {
-	var lists [][]uint64
-	for _, a := range sample.Outside(f) {
-		lists = append(lists, l(a), l(a, 1, 2), l(1, a, 2), l(1, 2, a), l(a, 0), l(0, a), l(a, a))
-		for _, at := range []int{0, 4095, 4096, 4999} {
-			long := make([]uint64, 5000)
-			long[at] = a
-			lists = append(lists, long)
-		}
-	}
-	return lists
-}
-
-// tooLong are lists past the limit, noughts at their end or not.
-func tooLong(f api.Field) [][]uint64 {
-	return [][]uint64{make([]uint64, 4097), padded(l(3), 4097), sample.Power(4096), scattered(f, 2, 4097), scattered(f, 2, 9000)}
-}
-
 func TestNoField(t *testing.T) {
-	lists := append([][]uint64{nil, l(0), l(1), l(1, 2), l(math.MaxUint64)}, tooLong(api.Small)...)
+	lists := append([][]uint64{nil, l(0), l(1), l(1, 2), l(math.MaxUint64)}, sample.TooLong(api.Small)...)
 	for _, f := range sample.NoFields() {
 		for _, p := range lists {
 			for _, q := range lists {
@@ -95,8 +61,8 @@ func TestNoField(t *testing.T) {
 func TestNoElement(t *testing.T) {
 	for _, f := range sample.Fields() {
 		// What is no element comes ahead of a length, and of a divisor 0.
-		others := append([][]uint64{nil, l(0), l(0, 0), l(1), l(1, 2)}, tooLong(f)...)
-		for _, p := range faulty(f) {
+		others := append([][]uint64{nil, l(0), l(0, 0), l(1), l(1, 2)}, sample.TooLong(f)...)
+		for _, p := range sample.Faulty(f) {
 			for _, q := range others {
 				wantError(t, f, p, q, api.ErrArg)
 				wantError(t, f, q, p, api.ErrArg)
@@ -122,9 +88,9 @@ func TestNoElement(t *testing.T) {
 
 func TestListsPastTheLimit(t *testing.T) {
 	for _, f := range sample.Fields() {
-		for _, p := range tooLong(f) {
+		for _, p := range sample.TooLong(f) {
 			// A length comes ahead of a divisor 0, whichever of the two is too long.
-			for _, q := range [][]uint64{nil, l(0), l(1), l(1, 2), scattered(f, 7, api.MaxPoly)} {
+			for _, q := range [][]uint64{nil, l(0), l(1), l(1, 2), sample.Run(f, 7, api.MaxPoly)} {
 				wantError(t, f, p, q, api.ErrLimit)
 				wantError(t, f, q, p, api.ErrLimit)
 			}
@@ -139,8 +105,8 @@ func TestListsPastTheLimit(t *testing.T) {
 
 func TestListsAtTheLimit(t *testing.T) {
 	for _, f := range sample.Fields() {
-		for _, p := range [][]uint64{make([]uint64, 4096), padded(l(3), 4096), sample.Power(4095), scattered(f, 2, 4096)} {
-			q := scattered(f, 30, 4096)
+		for _, p := range [][]uint64{make([]uint64, 4096), sample.Padded(l(3), 4096), sample.Power(4095), sample.Run(f, 2, 4096)} {
+			q := sample.Run(f, 30, 4096)
 			want(t, "Add", Add, f, p, q, addBy(f, p, q), api.OK)
 			want(t, "Sub", Sub, f, p, q, subBy(f, p, q), api.OK)
 			want(t, "Sub", Sub, f, q, p, subBy(f, q, p), api.OK)
@@ -158,21 +124,21 @@ func TestListsAtTheLimit(t *testing.T) {
 func TestProductsAtTheLimit(t *testing.T) {
 	for _, f := range sample.Fields() {
 		for _, n := range []int{1, 2, 3, 1000, 2048, 2049, 4095, 4096} {
-			p, q := sample.Power(n-1), scattered(f, 8, 4097-n)
+			p, q := sample.Power(n-1), sample.Run(f, 8, 4097-n)
 			product := append(make([]uint64, n-1), q...)
 			want(t, "Mul", Mul, f, p, q, product, api.OK)
 			want(t, "Mul", Mul, f, q, p, product, api.OK)
 			// Noughts at the end count for nothing: it is the product that must not be too long.
-			want(t, "Mul", Mul, f, padded(p, 4096), padded(q, 4096), product, api.OK)
+			want(t, "Mul", Mul, f, sample.Padded(p, 4096), sample.Padded(q, 4096), product, api.OK)
 			if n > 1 {
-				more := scattered(f, 8, 4098-n)
+				more := sample.Run(f, 8, 4098-n)
 				want(t, "Mul", Mul, f, p, more, nil, api.ErrLimit)
 				want(t, "Mul", Mul, f, more, p, nil, api.ErrLimit)
 			}
 		}
-		p := scattered(f, 8, 4096)
+		p := sample.Run(f, 8, 4096)
 		want(t, "Mul", Mul, f, p, p, nil, api.ErrLimit)
-		half := scattered(f, 9, 2048)
+		half := sample.Run(f, 9, 2048)
 		want(t, "Mul", Mul, f, half, half[:2000], mulBy(f, half, half[:2000]), api.OK)
 	}
 }
@@ -180,21 +146,21 @@ func TestProductsAtTheLimit(t *testing.T) {
 func TestIntoAtTheLimit(t *testing.T) {
 	for _, f := range sample.Fields() {
 		for _, c := range [][2]int{{2, 2048}, {2048, 2}, {64, 64}, {4, 1024}, {1024, 4}, {512, 8}, {4095, 2}, {2, 4095}, {4095, 4095}, {1365, 4}, {241, 17}} {
-			p, q := scattered(f, 1, c[0]+1), scattered(f, 2, c[1]+1)
+			p, q := sample.Run(f, 1, c[0]+1), sample.Run(f, 2, c[1]+1)
 			want(t, "Into", Into, f, p, q, nil, api.ErrLimit)
-			want(t, "Into", Into, f, padded(p, 4096), padded(q, 4096), nil, api.ErrLimit)
+			want(t, "Into", Into, f, sample.Padded(p, 4096), sample.Padded(q, 4096), nil, api.ErrLimit)
 		}
 		for _, c := range [][2]int{{1, 4095}, {63, 65}} {
 			p, q := sample.Power(c[0]), sample.Power(c[1])
-			want(t, "Into", Into, f, padded(p, 4096), padded(q, 4096), sample.Power(4095), api.OK)
-			want(t, "Into", Into, f, padded(q, 4096), padded(p, 4096), sample.Power(4095), api.OK)
+			want(t, "Into", Into, f, sample.Padded(p, 4096), sample.Padded(q, 4096), sample.Power(4095), api.OK)
+			want(t, "Into", Into, f, sample.Padded(q, 4096), sample.Padded(p, 4096), sample.Power(4095), api.OK)
 		}
 	}
 }
 
 func TestDivisorZero(t *testing.T) {
 	for _, f := range sample.Fields() {
-		for _, p := range append(sample.Polys(f), scattered(f, 1, 4096)) {
+		for _, p := range append(sample.Polys(f), sample.Run(f, 1, 4096)) {
 			for _, q := range [][]uint64{nil, {}, l(0), l(0, 0, 0), make([]uint64, 4096)} {
 				wantDivMod(t, f, p, q, nil, nil, api.ErrZero)
 			}

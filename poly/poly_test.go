@@ -104,14 +104,14 @@ func scale(f api.Field, p, q []uint64) ([]uint64, api.Errno) {
 func want(t *testing.T, what string, do binary, f api.Field, p, q, answer []uint64, e api.Errno) {
 	t.Helper()
 	if x, r := do(f, p, q); !slices.Equal(x, answer) || r != e {
-		t.Errorf("%s(%d, %s, %s) = %s, %d, not %s, %d", what, f, brief(p), brief(q), brief(x), r, brief(answer), e)
+		t.Errorf("%s(%d, %s, %s) = %s, %d, not %s, %d", what, f, sample.Brief(p), sample.Brief(q), sample.Brief(x), r, sample.Brief(answer), e)
 	}
 }
 
 func wantEval(t *testing.T, f api.Field, p []uint64, x, answer uint64, e api.Errno) {
 	t.Helper()
 	if y, r := Eval(f, p, x); y != answer || r != e {
-		t.Errorf("Eval(%d, %s, %d) = %d, %d, not %d, %d", f, brief(p), x, y, r, answer, e)
+		t.Errorf("Eval(%d, %s, %d) = %d, %d, not %d, %d", f, sample.Brief(p), x, y, r, answer, e)
 	}
 }
 
@@ -119,7 +119,7 @@ func wantDivMod(t *testing.T, f api.Field, p, q, quo, rem []uint64, e api.Errno)
 	t.Helper()
 	x, y, r := DivMod(f, p, q)
 	if !slices.Equal(x, quo) || !slices.Equal(y, rem) || r != e {
-		t.Errorf("DivMod(%d, %s, %s) = %s, %s, %d, not %s, %s, %d", f, brief(p), brief(q), brief(x), brief(y), r, brief(quo), brief(rem), e)
+		t.Errorf("DivMod(%d, %s, %s) = %s, %s, %d, not %s, %s, %d", f, sample.Brief(p), sample.Brief(q), sample.Brief(x), sample.Brief(y), r, sample.Brief(quo), sample.Brief(rem), e)
 	}
 }
 
@@ -128,7 +128,7 @@ func must(t *testing.T, do binary, f api.Field, p, q []uint64) []uint64 {
 	x, e := do(f, p, q)
 	if e != api.OK {
 		t.Helper()
-		t.Fatalf("field %d, %s and %s: %d", f, brief(p), brief(q), e)
+		t.Fatalf("field %d, %s and %s: %d", f, sample.Brief(p), sample.Brief(q), e)
 	}
 	return x
 }
@@ -137,23 +137,9 @@ func value(t *testing.T, f api.Field, p []uint64, x uint64) uint64 {
 	y, e := Eval(f, p, x)
 	if e != api.OK {
 		t.Helper()
-		t.Fatalf("Eval(%d, %s, %d): %d", f, brief(p), x, e)
+		t.Fatalf("Eval(%d, %s, %d): %d", f, sample.Brief(p), x, e)
 	}
 	return y
-}
-
-// scattered has n elements that begin at another place for each number from, and do not end with a nought.
-func scattered(f api.Field, from, n int) []uint64 {
-	p := slices.Clone(sample.Scattered(f, from+n)[from:])
-	if n > 0 && p[n-1] == 0 {
-		p[n-1] = 1
-	}
-	return p
-}
-
-// padded is p with noughts behind it, n elements in all.
-func padded(p []uint64, n int) []uint64 {
-	return append(slices.Clone(p), make([]uint64, n-len(p))...)
 }
 
 // P3.1
@@ -168,13 +154,13 @@ func TestTrimAndDegree(t *testing.T) {
 		{l(math.MaxUint64), l(math.MaxUint64)},
 		{l(0, math.MaxUint64, 0), l(0, math.MaxUint64)},
 		{l(1<<63, 0, 1<<32, 0), l(1<<63, 0, 1<<32)},
-		{long, long}, {padded(long, len(long)+4000), long}, {padded(l(3), 70000), l(3)},
+		{long, long}, {sample.Padded(long, len(long)+4000), long}, {sample.Padded(l(3), 70000), l(3)},
 	} {
 		if x := Trim(c.p); !slices.Equal(x, c.want) {
-			t.Errorf("Trim(%s) = %s, not %s", brief(c.p), brief(x), brief(c.want))
+			t.Errorf("Trim(%s) = %s, not %s", sample.Brief(c.p), sample.Brief(x), sample.Brief(c.want))
 		}
 		if n := Degree(c.p); n != len(c.want)-1 {
-			t.Errorf("Degree(%s) = %d, not %d", brief(c.p), n, len(c.want)-1)
+			t.Errorf("Degree(%s) = %d, not %d", sample.Brief(c.p), n, len(c.want)-1)
 		}
 	}
 }
@@ -211,7 +197,7 @@ func TestEval(t *testing.T) {
 			}
 		}
 		for _, x := range sample.Edges(f) {
-			p := scattered(f, 3, api.MaxPoly)
+			p := sample.Run(f, 3, api.MaxPoly)
 			wantEval(t, f, p, x, evalBy(f, p, x), api.OK)
 		}
 	}
@@ -245,8 +231,8 @@ func TestNoughtsThatComeToStandAtTheEnd(t *testing.T) {
 func division(t *testing.T, f api.Field, quo, q, rem []uint64) {
 	t.Helper()
 	p := addBy(f, mulBy(f, quo, q), rem)
-	for _, p := range [][]uint64{p, padded(p, len(p)+2)} {
-		for _, q := range [][]uint64{q, padded(q, len(q)+2)} {
+	for _, p := range [][]uint64{p, sample.Padded(p, len(p)+2)} {
+		for _, q := range [][]uint64{q, sample.Padded(q, len(q)+2)} {
 			wantDivMod(t, f, p, q, down(f, bigs(quo)), down(f, bigs(rem)), api.OK)
 		}
 	}
@@ -276,7 +262,7 @@ func TestDivModByAGreaterDegree(t *testing.T) {
 			for more := 1; more < 5; more++ {
 				wantDivMod(t, f, p, sample.Power(Degree(p)+more), nil, Trim(p), api.OK)
 			}
-			q := scattered(f, 9, api.MaxPoly)
+			q := sample.Run(f, 9, api.MaxPoly)
 			wantDivMod(t, f, p, q, nil, Trim(p), api.OK)
 		}
 	}
@@ -298,15 +284,15 @@ func TestDivModByASingleElement(t *testing.T) {
 func TestDivModOfLongLists(t *testing.T) {
 	for _, f := range sample.Fields() {
 		for _, n := range []int{1, 2, 64, 2048, 4095, 4096} {
-			q := scattered(f, 5, n)
-			quo := scattered(f, 40, api.MaxPoly-n+1)
-			rem := scattered(f, 77, n-1)
+			q := sample.Run(f, 5, n)
+			quo := sample.Run(f, 40, api.MaxPoly-n+1)
+			rem := sample.Run(f, 77, n-1)
 			p := must(t, Add, f, must(t, Mul, f, quo, q), rem)
 			if len(p) != api.MaxPoly {
 				t.Fatalf("%d coefficients", len(p))
 			}
 			wantDivMod(t, f, p, q, quo, rem, api.OK)
-			wantDivMod(t, f, p, padded(q, api.MaxPoly), quo, rem, api.OK)
+			wantDivMod(t, f, p, sample.Padded(q, api.MaxPoly), quo, rem, api.OK)
 		}
 	}
 }
@@ -326,7 +312,7 @@ func TestInto(t *testing.T) {
 
 func TestIntoOfDegreesBelowOne(t *testing.T) {
 	for _, f := range sample.Fields() {
-		long := scattered(f, 3, api.MaxPoly)
+		long := sample.Run(f, 3, api.MaxPoly)
 		for _, zero := range [][]uint64{nil, l(0), make([]uint64, api.MaxPoly)} {
 			want(t, "Into", Into, f, zero, long, nil, api.OK)
 			want(t, "Into", Into, f, zero, zero, nil, api.OK)
@@ -335,9 +321,9 @@ func TestIntoOfDegreesBelowOne(t *testing.T) {
 		}
 		for _, c := range sample.NotZero(sample.Edges(f)) {
 			want(t, "Into", Into, f, l(c), long, l(c), api.OK)
-			want(t, "Into", Into, f, padded(l(c), api.MaxPoly), long, l(c), api.OK)
+			want(t, "Into", Into, f, sample.Padded(l(c), api.MaxPoly), long, l(c), api.OK)
 			want(t, "Into", Into, f, long, l(c), down(f, bigs(l(evalBy(f, long, c)))), api.OK)
-			want(t, "Into", Into, f, long, padded(l(c), api.MaxPoly), down(f, bigs(l(evalBy(f, long, c)))), api.OK)
+			want(t, "Into", Into, f, long, sample.Padded(l(c), api.MaxPoly), down(f, bigs(l(evalBy(f, long, c)))), api.OK)
 			// c is where this one is 0.
 			want(t, "Into", Into, f, subBy(f, l(0, 1), l(c)), l(c), nil, api.OK)
 		}
