@@ -50,7 +50,7 @@ func noTransform() [][]uint64 {
 }
 
 func TestNoField(t *testing.T) {
-	lists := slices.Concat([][]uint64{l(0), l(1), l(1, 2), l(math.MaxUint64)}, noTransform(), sample.TooLong(api.Small))
+	lists := slices.Concat([][]uint64{l(0), l(1), l(1, 2), l(math.MaxUint64)}, noTransform(), sample.TooLong(api.Small, api.MaxPoly))
 	for _, f := range sample.NoFields() {
 		for _, p := range lists {
 			wantErrorOfOne(t, f, p, api.ErrArg, -1, 0, 1, 4096, math.MaxInt)
@@ -64,7 +64,7 @@ func TestNoField(t *testing.T) {
 func TestNoElement(t *testing.T) {
 	for _, f := range sample.Fields() {
 		// What is no element comes ahead of a length, of one that is too great and of one that is wrong.
-		others := append([][]uint64{nil, l(0), l(1), l(1, 2), l(1, 2, 3), sample.Run(f, 1, 4096)}, sample.TooLong(f)...)
+		others := append([][]uint64{nil, l(0), l(1), l(1, 2), l(1, 2, 3), sample.Run(f, 1, 4096)}, sample.TooLong(f, api.MaxPoly)...)
 		for _, p := range sample.Faulty(f) {
 			wantErrorOfOne(t, f, p, api.ErrArg, -1, 0, 1, 4096, math.MaxInt)
 			wantError(t, f, p, p, api.ErrArg)
@@ -82,7 +82,7 @@ func TestNoElement(t *testing.T) {
 func TestExponentBelowZero(t *testing.T) {
 	for _, f := range sample.Fields() {
 		for _, n := range []int{-1, -2, -4096, math.MinInt + 1, math.MinInt} {
-			for _, p := range slices.Concat(sample.Polys(f), sample.TooLong(f), sample.Faulty(f)) {
+			for _, p := range slices.Concat(sample.Polys(f), sample.TooLong(f, api.MaxPoly), sample.Faulty(f)) {
 				wantPower(t, f, p, n, nil, api.ErrArg)
 			}
 		}
@@ -91,7 +91,7 @@ func TestExponentBelowZero(t *testing.T) {
 
 func TestListsPastTheLimit(t *testing.T) {
 	for _, f := range sample.Fields() {
-		for _, p := range sample.TooLong(f) {
+		for _, p := range sample.TooLong(f, api.MaxPoly) {
 			wantErrorOfOne(t, f, p, api.ErrLimit, 0, 1, 2, math.MaxInt)
 			wantError(t, f, p, p, api.ErrLimit)
 			// A length past the limit comes ahead of one that is wrong, whichever of the two has it.

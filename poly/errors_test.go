@@ -44,7 +44,7 @@ func wantError(t *testing.T, f api.Field, p, q []uint64, e api.Errno) {
 }
 
 func TestNoField(t *testing.T) {
-	lists := append([][]uint64{nil, l(0), l(1), l(1, 2), l(math.MaxUint64)}, sample.TooLong(api.Small)...)
+	lists := append([][]uint64{nil, l(0), l(1), l(1, 2), l(math.MaxUint64)}, sample.TooLong(api.Small, api.MaxPoly)...)
 	for _, f := range sample.NoFields() {
 		for _, p := range lists {
 			for _, q := range lists {
@@ -61,7 +61,7 @@ func TestNoField(t *testing.T) {
 func TestNoElement(t *testing.T) {
 	for _, f := range sample.Fields() {
 		// What is no element comes ahead of a length, and of a divisor 0.
-		others := append([][]uint64{nil, l(0), l(0, 0), l(1), l(1, 2)}, sample.TooLong(f)...)
+		others := append([][]uint64{nil, l(0), l(0, 0), l(1), l(1, 2)}, sample.TooLong(f, api.MaxPoly)...)
 		for _, p := range sample.Faulty(f) {
 			for _, q := range others {
 				wantError(t, f, p, q, api.ErrArg)
@@ -88,7 +88,7 @@ func TestNoElement(t *testing.T) {
 
 func TestListsPastTheLimit(t *testing.T) {
 	for _, f := range sample.Fields() {
-		for _, p := range sample.TooLong(f) {
+		for _, p := range sample.TooLong(f, api.MaxPoly) {
 			// A length comes ahead of a divisor 0, whichever of the two is too long.
 			for _, q := range [][]uint64{nil, l(0), l(1), l(1, 2), sample.Run(f, 7, api.MaxPoly)} {
 				wantError(t, f, p, q, api.ErrLimit)

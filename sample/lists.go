@@ -35,21 +35,21 @@ func Padded(l []uint64, n int) []uint64 {
 	return append(slices.Clone(l), make([]uint64, n-len(l))...)
 }
 
-// Faulty are lists that are no lists of elements, short ones and ones past the limit.
+// Faulty are lists that are no lists of elements, short ones and ones past all limits.
 func Faulty(f api.Field) [][]uint64 {
 	var lists [][]uint64
 	for _, a := range Outside(f) {
 		lists = append(lists, [][]uint64{{a}, {a, 1, 2}, {1, a, 2}, {1, 2, a}, {a, 0}, {0, a}, {a, a}}...)
-		for _, at := range []int{0, 4095, 4096, 4999} {
-			long := make([]uint64, 5000)
+		for _, at := range []int{0, 2047, 2048, 4095, 4096} {
+			long := make([]uint64, at+3)
 			long[at] = a
-			lists = append(lists, long)
+			lists = append(lists, long, Padded(long, 5000))
 		}
 	}
 	return lists
 }
 
-// TooLong are lists past the limit, noughts at their end or not.
-func TooLong(f api.Field) [][]uint64 {
-	return [][]uint64{make([]uint64, 4097), Padded([]uint64{3}, 4097), Power(4096), Run(f, 2, 4097), make([]uint64, 8192), Run(f, 2, 9000)}
+// TooLong are lists of more than most elements, noughts at their end or not.
+func TooLong(f api.Field, most int) [][]uint64 {
+	return [][]uint64{make([]uint64, most+1), Padded([]uint64{3}, most+1), Power(most), Run(f, 2, most+1), make([]uint64, 2*most), Run(f, 2, 9000)}
 }
