@@ -55,6 +55,23 @@ func Elements(f api.Field) []uint64 {
 	return append(Edges(f), Scattered(f, 60)...)
 }
 
+// Unlike are n elements that stand there once each: some other ones for each number from, the edges among them where that is low.
+func Unlike(f api.Field, from, n int) []uint64 {
+	seen := map[uint64]int{}
+	for _, a := range slices.Concat(Edges(f), Scattered(f, from+2*n)) {
+		if _, ok := seen[a]; !ok {
+			seen[a] = len(seen)
+		}
+	}
+	l := make([]uint64, n)
+	for a, i := range seen {
+		if i >= from && i < from+n {
+			l[i-from] = a
+		}
+	}
+	return l
+}
+
 // Outside are numbers that are no elements of the field.
 func Outside(f api.Field) []uint64 {
 	p := Prime(f)
