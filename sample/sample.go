@@ -84,8 +84,7 @@ func NotZero(l []uint64) []uint64 {
 
 // Roomy is a list with room behind its end, and the whole of what it stands in.
 func Roomy(l ...uint64) (list, whole []uint64) {
-	whole = append(slices.Clone(l), 71, 72, 73)
-	return whole[:len(l)], whole
+	return roomy(l)
 }
 
 // Polys are lists as polynomials: 0 with none and with noughts alone, single elements, noughts at the front, within and at the end, and some without any order.
