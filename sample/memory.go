@@ -1,24 +1,36 @@
 package sample
 
-import "slices"
+import (
+	"slices"
 
-// Item is what stands in the lists that calls are handed and answer.
+	"conclave/api"
+)
+
+// Item is what stands in the lists of numbers that calls are handed and answer.
 type Item interface{ byte | int | uint64 }
 
+// other is another number, for each number one of its own.
+func other[T Item](a T) T { return a ^ 85 }
+
+// otherStep is another step, also where all of it is 0.
+func otherStep(op api.Op) api.Op {
+	return api.Op{Kind: op.Kind ^ 85, A: other(op.A), B: other(op.B), C: other(op.C)}
+}
+
 // roomy is a list with room behind its end, and the whole of what it stands in.
-func roomy[T Item](l []T) (list, whole []T) {
-	whole = append(slices.Clone(l), 71, 72, 73)
+func roomy[T any](l []T, room ...T) (list, whole []T) {
+	whole = append(slices.Clone(l), room...)
 	return whole[:len(l)], whole
 }
 
 // scribble writes something else over all of a list, the room behind its end too.
-func scribble[T Item](l []T) {
-	for i := range l[:cap(l)] {
-		l[:cap(l)][i] ^= 85
+func scribble[T any](l []T, other func(T) T) {
+	for i, a := range l[:cap(l)] {
+		l[:cap(l)][i] = other(a)
 	}
 }
 
-func copies[T Item](lists [][]T) [][]T {
+func copies[T any](lists [][]T) [][]T {
 	l := make([][]T, len(lists))
 	for i := range lists {
 		l[i] = slices.Clone(lists[i])
@@ -26,15 +38,20 @@ func copies[T Item](lists [][]T) [][]T {
 	return l
 }
 
-func same[T Item](a, b [][]T) bool {
+func same[T comparable](a, b [][]T) bool {
 	return slices.EqualFunc(a, b, slices.Equal[[]T])
 }
 
 // Apart calls do twice with roomy copies of the lists, and tells what is amiss: whether it changed them, whether any two of what was handed in and answered share memory, found by writing over one and looking at the others. It is empty, if nothing is.
 func Apart[T Item](do func(lists [][]T) [][]T, lists ...[]T) string {
+	return apart(other[T], do, lists)
+}
+
+func apart[T comparable](other func(T) T, do func(lists [][]T) [][]T, lists [][]T) string {
 	handed, whole := make([][]T, len(lists)), make([][]T, len(lists))
 	for i := range lists {
-		handed[i], whole[i] = roomy(lists[i])
+		var none T
+		handed[i], whole[i] = roomy(lists[i], other(none), none, other(none))
 	}
 	before := copies(whole)
 	answers := append(do(handed), do(handed)...)
@@ -43,7 +60,7 @@ func Apart[T Item](do func(lists [][]T) [][]T, lists ...[]T) string {
 	}
 	for i := range answers {
 		others := copies(answers)
-		scribble(answers[i])
+		scribble(answers[i], other)
 		others[i] = answers[i]
 		if !same(whole, before) {
 			return "an answer and an argument share memory"
@@ -54,10 +71,39 @@ func Apart[T Item](do func(lists [][]T) [][]T, lists ...[]T) string {
 	}
 	after := copies(answers)
 	for i := range whole {
-		scribble(whole[i])
+		scribble(whole[i], other)
 	}
 	if !same(answers, after) {
 		return "an argument and an answer share memory"
+	}
+	return ""
+}
+
+// apartIn is apart of one list of each program.
+func apartIn[T comparable](other func(T) T, list func(p *api.Prog) *[]T, do func(progs []api.Prog) []api.Prog, progs []api.Prog) string {
+	lists := make([][]T, len(progs))
+	for i := range progs {
+		lists[i] = *list(&progs[i])
+	}
+	return apart(other, func(lists [][]T) (answers [][]T) {
+		handed := slices.Clone(progs)
+		for i := range handed {
+			*list(&handed[i]) = lists[i]
+		}
+		for _, p := range do(handed) {
+			answers = append(answers, *list(&p))
+		}
+		return answers
+	}, lists)
+}
+
+// ApartProgs is Apart of programs: of their steps, and of their Outs.
+func ApartProgs(do func(progs []api.Prog) []api.Prog, progs ...api.Prog) string {
+	if wrong := apartIn(otherStep, func(p *api.Prog) *[]api.Op { return &p.Ops }, do, progs); wrong != "" {
+		return "steps: " + wrong
+	}
+	if wrong := apartIn(other[int], func(p *api.Prog) *[]int { return &p.Outs }, do, progs); wrong != "" {
+		return "Outs: " + wrong
 	}
 	return ""
 }

@@ -1,6 +1,10 @@
 package sample
 
-import "testing"
+import (
+	"testing"
+
+	"conclave/api"
+)
 
 // What no layer does: the tests of all layers lean on Apart's finding it.
 func TestApartFindsWhatIsAmiss(t *testing.T) {
@@ -24,6 +28,33 @@ func TestApartFindsWhatIsAmiss(t *testing.T) {
 func TestApartFindsNothingElse(t *testing.T) {
 	fresh := func(h [][]uint64) [][]uint64 { return [][]uint64{Padded(h[0], 5), nil, Padded(h[1], 9)} }
 	if wrong := Apart(fresh, []uint64{1, 2}, nil); wrong != "" {
+		t.Errorf("new memory: %s", wrong)
+	}
+}
+
+func TestApartProgsFindsWhatIsAmiss(t *testing.T) {
+	kept := Prog(1, 2, 3, 4)
+	for what, do := range map[string]func(h []api.Prog) []api.Prog{
+		"changes a step":                func(h []api.Prog) []api.Prog { h[0].Ops[1].C++; return nil },
+		"changes an Out":                func(h []api.Prog) []api.Prog { h[1].Outs[1]++; return nil },
+		"changes the room of steps":     func(h []api.Prog) []api.Prog { _ = append(h[1].Ops, api.Op{A: 5}); return nil },
+		"changes the room of Outs":      func(h []api.Prog) []api.Prog { _ = append(h[0].Outs, 5); return nil },
+		"answers an argument":           func(h []api.Prog) []api.Prog { return h[1:] },
+		"answers an argument's steps":   func(h []api.Prog) []api.Prog { return []api.Prog{{Ops: h[0].Ops}} },
+		"answers an argument's Outs":    func(h []api.Prog) []api.Prog { return []api.Prog{{Outs: h[1].Outs[1:]}} },
+		"answers one program twice":     func(h []api.Prog) []api.Prog { p := Prog(1, 2, 3, 4); return []api.Prog{p, p} },
+		"answers what it keeps":         func(h []api.Prog) []api.Prog { return []api.Prog{kept} },
+		"answers none and a list's end": func(h []api.Prog) []api.Prog { return []api.Prog{{Ops: h[0].Ops[:0]}} },
+	} {
+		if ApartProgs(do, Prog(2, 1, 4, 3), Prog(3, 2, 2, 2)) == "" {
+			t.Errorf("a call that %s is not found", what)
+		}
+	}
+}
+
+func TestApartProgsFindsNothingElse(t *testing.T) {
+	fresh := func(h []api.Prog) []api.Prog { return []api.Prog{Prog(1, 2, 3, 4), {}, Prog(1, 2, 3, 4)} }
+	if wrong := ApartProgs(fresh, Prog(2, 1, 4, 3), api.Prog{}); wrong != "" {
 		t.Errorf("new memory: %s", wrong)
 	}
 }

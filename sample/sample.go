@@ -1,4 +1,4 @@
-// Package sample holds the elements and lists with which the layers' tests try their calls, and finds lists that share memory. No layer calls it, and it calls none, so that every layer's tests may lean on it.
+// Package sample holds the elements, lists and programs with which the layers' tests try their calls, and finds lists and programs that share memory. No layer calls it, and it calls none, so that every layer's tests may lean on it.
 package sample
 
 import (
@@ -84,7 +84,7 @@ func NotZero(l []uint64) []uint64 {
 
 // Roomy is a list with room behind its end, and the whole of what it stands in.
 func Roomy(l ...uint64) (list, whole []uint64) {
-	return roomy(l)
+	return roomy(l, 71, 72, 73)
 }
 
 // Polys are lists as polynomials: 0 with none and with noughts alone, single elements, noughts at the front, within and at the end, and some without any order.
