@@ -32,6 +32,21 @@ func step(draws []uint64, values int) api.Op {
 	return api.Op{Kind: kind, A: int(draws[1] % uint64(values)), B: int(draws[2] % uint64(values))}
 }
 
+// Steep is Prog with each step made of some of the last few values ahead of it, and products in the place of most constants, so that many steps hang on one another and degrees grow high.
+func Steep(from, inputs, steps, outs int) api.Prog {
+	p := Prog(from, inputs, steps, outs)
+	for i, op := range p.Ops {
+		values := inputs + i
+		switch {
+		case op.Kind != api.OConst:
+			p.Ops[i].A, p.Ops[i].B = values-1-op.A%min(values, 4), values-1-op.B%min(values, 4)
+		case i%4 > 0:
+			p.Ops[i] = api.Op{Kind: api.OMul, A: values - 1 - i%min(values, 3), B: values - 1}
+		}
+	}
+	return p
+}
+
 // Inputs are the numbers of so many inputs, in order.
 func Inputs(n int) []int {
 	l := make([]int, n)
