@@ -179,30 +179,9 @@ func withOuts(p api.Prog, l ...int) api.Prog {
 
 func last(p api.Prog) int { return p.Inputs + len(p.Ops) - 1 }
 
-// squares has one input, and so many times the value ahead times itself; it has the last one come out.
-func squares(n int) api.Prog {
-	p := api.Prog{Inputs: 1, Outs: outs(n)}
-	for i := range n {
-		p.Ops = append(p.Ops, step(api.OMul, i, i))
-	}
-	return p
-}
-
-// power has one input and its power n, at least 1, come out: the bits of n from the highest one on say where the input is put to a square.
-func power(n int) api.Prog {
-	p := api.Prog{Inputs: 1}
-	for _, bit := range fmt.Sprintf("%b", n)[1:] {
-		p.Ops = append(p.Ops, step(api.OMul, last(p), last(p)))
-		if bit == '1' {
-			p.Ops = append(p.Ops, step(api.OMul, last(p), 0))
-		}
-	}
-	return withOuts(p, last(p))
-}
-
 // progs are many programs that may be, low ones and steep ones.
 func progs() []api.Prog {
-	all := append(sample.Progs(), squares(256), power(1024), power(1025), sample.Steep(1, 64, 256, 64), sample.Steep(2, 0, 256, 64), sample.Steep(4, 1, 256, 64))
+	all := append(sample.Progs(), sample.Squares(256), sample.Raise(1024), sample.Raise(1025), sample.Steep(1, 64, 256, 64), sample.Steep(2, 0, 256, 64), sample.Steep(4, 1, 256, 64))
 	for from := range 120 {
 		all = append(all, sample.Prog(from, from*5%65, from%31, from*3%65), sample.Prog(from, from%3, from*11%257, from%5))
 		all = append(all, sample.Steep(from, from%7, from%41, from%4), sample.Steep(from, 1+from%2, from*7%150, 1+from%9))
@@ -280,7 +259,7 @@ func TestDegreesByHand(t *testing.T) {
 // Each degree up to the bound and some above it.
 func TestDegreesAboutTheBound(t *testing.T) {
 	for n := 1; n <= 1300; n++ {
-		p := power(n)
+		p := sample.Raise(n)
 		if n <= 1024 {
 			wantOf(t, p, n, api.OK)
 			if l, e := All(p); e != api.OK || l[last(p)] != n {
@@ -302,7 +281,7 @@ func TestDegreesAboutTheBound(t *testing.T) {
 // Behind a degree at the bound, or one past it, comes a step of each kind.
 func TestDegreesBehindTheBound(t *testing.T) {
 	for n, e := range map[int]api.Errno{1024: api.OK, 1025: api.ErrLimit} {
-		p := power(n)
+		p := sample.Raise(n)
 		top := last(p)
 		p.Ops = append(p.Ops, constant(0))
 		low, own := top+1, top+2
@@ -327,7 +306,7 @@ func TestDegreesBehindTheBound(t *testing.T) {
 // Degrees that would leave any number of bits stay past the bound, whatever comes behind them.
 func TestDegreesFarPastTheBound(t *testing.T) {
 	for n := range 257 {
-		p := squares(n)
+		p := sample.Squares(n)
 		if n <= 10 {
 			wantOf(t, p, 1<<n, api.OK)
 		} else {
@@ -340,7 +319,7 @@ func TestDegreesFarPastTheBound(t *testing.T) {
 	}
 	for n := 11; n < 255; n++ {
 		for _, kind := range []api.OpKind{api.OAdd, api.OSub, api.OMul} {
-			p := squares(n)
+			p := sample.Squares(n)
 			p.Ops = append(p.Ops, constant(0), step(kind, n, n+1))
 			wantOf(t, withOuts(p, n+2), 0, api.ErrLimit)
 			wantOf(t, withOuts(p, n+1), 0, api.OK)
@@ -363,7 +342,7 @@ func TestDegreesOfMuch(t *testing.T) {
 	wantOf(t, withOuts(p, slices.Repeat(outs(0, 319), 32)...), 257, api.OK)
 	wantOf(t, withOuts(p, slices.Repeat(outs(0, 318), 32)...), 256, api.OK)
 	// The last of 64 Outs alone is above.
-	s := squares(256)
+	s := sample.Squares(256)
 	wantOf(t, withOuts(s, append(slices.Repeat(outs(10), 63), 11)...), 0, api.ErrLimit)
 	wantOf(t, withOuts(s, append(slices.Repeat(outs(10), 63), 256)...), 0, api.ErrLimit)
 	wantOf(t, withOuts(s, slices.Repeat(outs(10), 64)...), 1024, api.OK)
@@ -485,8 +464,8 @@ func TestTrimOfMuch(t *testing.T) {
 		wantUses(t, p, nil, api.OK)
 	}
 	for n := range 257 {
-		wantTrim(t, withOuts(squares(256), slices.Repeat(outs(n), 64)...), withOuts(squares(n), slices.Repeat(outs(n), 64)...), api.OK)
-		wantUses(t, withOuts(squares(256), n), outs(0), api.OK)
+		wantTrim(t, withOuts(sample.Squares(256), slices.Repeat(outs(n), 64)...), withOuts(sample.Squares(n), slices.Repeat(outs(n), 64)...), api.OK)
+		wantUses(t, withOuts(sample.Squares(256), n), outs(0), api.OK)
 	}
 }
 
@@ -496,7 +475,7 @@ func TestExamples(t *testing.T) {
 	p := api.Prog{Inputs: 1, Ops: ops(step(api.OMul, 0, 0), constant(5), step(api.OSub, 1, 2))}
 	wantAll(t, p, outs(1, 2, 0, 2), api.OK)
 	wantOf(t, withOuts(p, 3), 2, api.OK)
-	wantOf(t, squares(11), 0, api.ErrLimit)
+	wantOf(t, sample.Squares(11), 0, api.ErrLimit)
 	wantOf(t, api.Prog{}, 0, api.OK)
 	wantUses(t, api.Prog{Inputs: 3, Ops: ops(step(api.OAdd, 2, 2)), Outs: outs(3)}, outs(2), api.OK)
 	wantTrim(t, api.Prog{Inputs: 1, Ops: ops(constant(7), step(api.OMul, 0, 0)), Outs: outs(2)}, api.Prog{Inputs: 1, Ops: ops(step(api.OMul, 0, 0)), Outs: outs(1)}, api.OK)

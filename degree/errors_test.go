@@ -64,7 +64,7 @@ func TestNoProgramComesFirst(t *testing.T) {
 			func(p *api.Prog) { p.Outs = append(p.Outs, -1) },
 			func(p *api.Prog) { p.Outs = slices.Repeat(p.Outs, 65) },
 		} {
-			p := squares(n)
+			p := sample.Squares(n)
 			wantOf(t, p, 0, api.ErrLimit)
 			faulty(&p)
 			wantNone(t, p)
@@ -76,7 +76,7 @@ func constants(n int) []api.Op { return slices.Repeat(ops(constant(7)), n) }
 
 // Which inputs are used, and which steps are wanted, has no bound.
 func TestUsesAndTrimPastTheBound(t *testing.T) {
-	for _, p := range []api.Prog{power(1025), power(1300), squares(11), squares(64), squares(255)} {
+	for _, p := range []api.Prog{sample.Raise(1025), sample.Raise(1300), sample.Squares(11), sample.Squares(64), sample.Squares(255)} {
 		wantOf(t, p, 0, api.ErrLimit)
 		wantUses(t, p, outs(0), api.OK)
 		wantTrim(t, p, p, api.OK)

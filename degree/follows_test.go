@@ -53,13 +53,13 @@ func TestTheDegreeOfOneBehindTheOther(t *testing.T) {
 func TestTheDegreeOfPowersOfPowers(t *testing.T) {
 	for _, m := range []int{1, 2, 3, 7, 25, 31, 32, 33, 41, 512, 1023, 1024} {
 		for _, n := range []int{1, 2, 3, 5, 25, 31, 32, 33, 41, 341, 1024} {
-			both, _ := slp.After(power(m), power(n))
+			both, _ := slp.After(sample.Raise(m), sample.Raise(n))
 			if m*n <= 1024 {
 				wantOf(t, both, m*n, api.OK)
 			} else {
 				wantOf(t, both, 0, api.ErrLimit)
 			}
-			wantAtMostTheProduct(t, power(m), power(n))
+			wantAtMostTheProduct(t, sample.Raise(m), sample.Raise(n))
 		}
 	}
 }

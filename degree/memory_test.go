@@ -24,7 +24,7 @@ func TestMemory(t *testing.T) {
 			return []api.Prog{{Outs: all}, {Outs: uses}, p, q}
 		},
 	}
-	some := append(progs(), withOuts(squares(5), 5, 0), withOuts(squares(5), 2), withOuts(squares(5)))
+	some := append(progs(), withOuts(sample.Squares(5), 5, 0), withOuts(sample.Squares(5), 2), withOuts(sample.Squares(5)))
 	for _, p := range append(some, sample.NoProgs()...) {
 		for what, do := range calls {
 			if wrong := sample.ApartProgs(do, p); wrong != "" {

@@ -2,6 +2,7 @@ package sample
 
 import (
 	"math"
+	"math/bits"
 	"slices"
 
 	"conclave/api"
@@ -44,6 +45,28 @@ func Steep(from, inputs, steps, outs int) api.Prog {
 			p.Ops[i] = api.Op{Kind: api.OMul, A: values - 1 - i%min(values, 3), B: values - 1}
 		}
 	}
+	return p
+}
+
+// Squares has one input, and so many times the value ahead times itself; it has the last one come out.
+func Squares(n int) api.Prog {
+	p := api.Prog{Inputs: 1, Outs: []int{n}}
+	for i := range n {
+		p.Ops = append(p.Ops, api.Op{Kind: api.OMul, A: i, B: i})
+	}
+	return p
+}
+
+// Raise has one input and its power n, at least 1, come out: the bits of n below the highest one say where the input is put to a square.
+func Raise(n int) api.Prog {
+	p := api.Prog{Inputs: 1}
+	for bit := bits.Len(uint(n)) - 2; bit >= 0; bit-- {
+		p.Ops = append(p.Ops, api.Op{Kind: api.OMul, A: len(p.Ops), B: len(p.Ops)})
+		if n>>bit&1 == 1 {
+			p.Ops = append(p.Ops, api.Op{Kind: api.OMul, A: len(p.Ops), B: 0})
+		}
+	}
+	p.Outs = []int{len(p.Ops)}
 	return p
 }
 
