@@ -95,50 +95,13 @@ func TestIndependent(t *testing.T) {
 	}
 }
 
-// everyChoice are all choices of so many out of n, each rising.
-func everyChoice(n, many int) [][]int {
-	if many == 0 {
-		return [][]int{nil}
-	}
-	var choices [][]int
-	for last := many - 1; last < n; last++ {
-		for _, ahead := range everyChoice(last, many-1) {
-			choices = append(choices, append(slices.Clone(ahead), last))
-		}
-	}
-	return choices
-}
-
-// someChoices are the first so many out of n, the last ones, these in turn from both ends, and some without any order.
-func someChoices(n, many int) [][]int {
-	order := sample.Inputs(n)
-	choices := [][]int{order[:many], order[n-many:]}
-	var ends []int
-	for i := range n {
-		ends = append(ends, []int{i / 2, n - 1 - i/2}[i%2])
-	}
-	choices = append(choices, ends[:many])
-	for from := range 6 {
-		draws := sample.Scattered(api.Large, n*(from+1))[n*from:]
-		mixed := slices.Clone(order)
-		slices.SortFunc(mixed, func(i, j int) int {
-			if draws[i] < draws[j] {
-				return -1
-			}
-			return 1
-		})
-		choices = append(choices, mixed[:many])
-	}
-	return choices
-}
-
 // choices are many rows out of all, or all of them where there are fewer: each choice, where these are few.
 func choices(all [][]uint64, many int) [][][]uint64 {
 	n := len(all)
 	many = min(many, n)
-	which := someChoices(n, many)
+	which := sample.SomeChoices(n, many)
 	if n <= 8 {
-		which = everyChoice(n, many)
+		which = sample.EveryChoice(n, many)
 	}
 	var chosen [][][]uint64
 	for _, places := range which {
@@ -149,19 +112,6 @@ func choices(all [][]uint64, many int) [][][]uint64 {
 		chosen = append(chosen, rows)
 	}
 	return chosen
-}
-
-func TestChoices(t *testing.T) {
-	if got := everyChoice(4, 2); !slices.EqualFunc(got, [][]int{{0, 1}, {0, 2}, {1, 2}, {0, 3}, {1, 3}, {2, 3}}, slices.Equal[[]int]) {
-		t.Errorf("everyChoice(4, 2) = %v", got)
-	}
-	for _, c := range []struct{ n, many int }{{9, 1}, {9, 9}, {64, 0}, {64, 5}, {64, 63}} {
-		for _, places := range someChoices(c.n, c.many) {
-			if rising := slices.Compact(slices.Sorted(slices.Values(places))); len(rising) != c.many {
-				t.Errorf("someChoices(%d, %d) has %v", c.n, c.many, places)
-			}
-		}
-	}
 }
 
 // rowsOf are the rows of a plan, and of them just the entries of the pads.

@@ -19,3 +19,31 @@ func TestUnlike(t *testing.T) {
 		}
 	}
 }
+
+// Which workers are asked leans on these: a choice that named one twice would be no choice.
+func TestChoices(t *testing.T) {
+	if got := EveryChoice(4, 2); !slices.EqualFunc(got, [][]int{{0, 1}, {0, 2}, {1, 2}, {0, 3}, {1, 3}, {2, 3}}, slices.Equal[[]int]) {
+		t.Errorf("EveryChoice(4, 2) = %v", got)
+	}
+	for _, c := range []struct{ n, many int }{{9, 1}, {9, 9}, {64, 0}, {64, 5}, {64, 63}} {
+		for _, places := range SomeChoices(c.n, c.many) {
+			if rising := slices.Compact(slices.Sorted(slices.Values(places))); len(rising) != c.many {
+				t.Errorf("SomeChoices(%d, %d) has %v", c.n, c.many, places)
+			}
+		}
+	}
+}
+
+func TestMixed(t *testing.T) {
+	for n := range 65 {
+		for from := range 4 {
+			l := Mixed(from, n)
+			if rising := slices.Sorted(slices.Values(l)); !slices.Equal(rising, Inputs(n)) {
+				t.Errorf("Mixed(%d, %d) = %v", from, n, l)
+			}
+			if n > 20 && (slices.IsSorted(l) || slices.Equal(l, Mixed(from+1, n))) {
+				t.Errorf("Mixed(%d, %d) = %v", from, n, l)
+			}
+		}
+	}
+}
