@@ -34,7 +34,7 @@ func TestNoPlan(t *testing.T) {
 // The numbers next to those that may be, and the least and the greatest one that an int holds, at each place, in both fields.
 func TestNoPlanByHand(t *testing.T) {
 	for _, f := range sample.Fields() {
-		good := with(sample.Plan(11, 3, 1, 0, 2, 2), f, 1)
+		good := sample.With(sample.Plan(11, 3, 1, 0, 2, 2), f, 1)
 		wantPoints(t, good, l(0, 1, 2), l(3), workersBy(good), api.OK)
 		for i, wrong := range [][]int{{0, -1, 65}, {0, -1, 64, 65}, {-1, 62, 63}, {-1, 65}, {-1, 65}, {-1, 1025}, {0, -1, 65}} {
 			for _, n := range append(wrong, math.MinInt, math.MaxInt) {
@@ -49,18 +49,18 @@ func TestNoPlanByHand(t *testing.T) {
 // Numbers whose sums would wrap to ones that may be.
 func TestNoPlanForSeveralNumbers(t *testing.T) {
 	for _, f := range sample.Fields() {
-		wantNone(t, with(sample.Plan(4, math.MaxInt, math.MinInt, 0, 0, 1), f, 1))
-		wantNone(t, with(sample.Plan(4, math.MinInt, math.MinInt, 0, 0, 1), f, 1))
-		wantNone(t, with(sample.Plan(4, -2, 4, 0, 0, 1), f, 1))
-		wantNone(t, with(sample.Plan(4, 4, -2, 0, 0, 1), f, 1))
-		wantNone(t, with(sample.Plan(-4, 2, 1, 0, 0, 1), f, 1))
-		wantNone(t, with(sample.Plan(math.MaxInt, math.MaxInt, math.MaxInt, 0, 0, 1), f, 1))
+		wantNone(t, sample.With(sample.Plan(4, math.MaxInt, math.MinInt, 0, 0, 1), f, 1))
+		wantNone(t, sample.With(sample.Plan(4, math.MinInt, math.MinInt, 0, 0, 1), f, 1))
+		wantNone(t, sample.With(sample.Plan(4, -2, 4, 0, 0, 1), f, 1))
+		wantNone(t, sample.With(sample.Plan(4, 4, -2, 0, 0, 1), f, 1))
+		wantNone(t, sample.With(sample.Plan(-4, 2, 1, 0, 0, 1), f, 1))
+		wantNone(t, sample.With(sample.Plan(math.MaxInt, math.MaxInt, math.MaxInt, 0, 0, 1), f, 1))
 	}
 }
 
 func TestNoField(t *testing.T) {
 	for f := range 256 {
-		p := with(sample.Plan(4, 2, 1, 0, 0, 1), api.Field(f), 1)
+		p := sample.With(sample.Plan(4, 2, 1, 0, 0, 1), api.Field(f), 1)
 		if f == 1 || f == 2 {
 			wantPoints(t, p, l(0, 1), l(2), l(3, 4, 5, 6), api.OK)
 			continue

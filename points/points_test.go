@@ -97,19 +97,13 @@ func wantRows(t *testing.T, p api.Plan, answer [][]uint64, e api.Errno) {
 	}
 }
 
-// with is p with another field and Width.
-func with(p api.Plan, f api.Field, width int) api.Plan {
-	p.Field, p.Width = f, width
-	return p
-}
-
 // shaped are plans of all numbers of data blocks and pads, with as many workers as each of ns, of both fields.
 func shaped(ns ...int) []api.Plan {
 	var plans []api.Plan
 	for k := 1; k <= 64; k++ {
 		for pads := 0; k+pads <= 64; pads++ {
 			for i, n := range ns {
-				plans = append(plans, with(sample.Plan(n, k, pads, 0, 0, 1), sample.Fields()[(k+i)%2], 1+pads))
+				plans = append(plans, sample.With(sample.Plan(n, k, pads, 0, 0, 1), sample.Fields()[(k+i)%2], 1+pads))
 			}
 		}
 	}
@@ -124,7 +118,7 @@ func TestPoints(t *testing.T) {
 	}
 	for n := 1; n <= 64; n++ {
 		for _, f := range sample.Fields() {
-			p := with(sample.Plan(n, 3, 2, 1, 1, 2), f, 4)
+			p := sample.With(sample.Plan(n, 3, 2, 1, 1, 2), f, 4)
 			wantPoints(t, p, l(0, 1, 2), l(3, 4), workersBy(p), api.OK)
 		}
 	}
@@ -145,7 +139,7 @@ func TestPointsByHand(t *testing.T) {
 			{1, 1, 0, l(0), nil, l(1)},
 			{3, 1, 0, l(0), nil, l(1, 2, 3)},
 		} {
-			wantPoints(t, with(sample.Plan(c.n, c.k, c.t, 0, 0, 1), f, 1), c.data, c.pads, c.workers, api.OK)
+			wantPoints(t, sample.With(sample.Plan(c.n, c.k, c.t, 0, 0, 1), f, 1), c.data, c.pads, c.workers, api.OK)
 		}
 	}
 }
@@ -168,7 +162,7 @@ func TestPointsAtTheLimits(t *testing.T) {
 			{sample.Plan(1, 32, 32, 0, 0, 1), "Workers", 64, 64, 1},
 			{sample.Plan(64, 1, 0, 0, 0, 1), "Workers", 1, 64, 64},
 		} {
-			points, e := lists()[c.of](with(c.p, f, 64))
+			points, e := lists()[c.of](sample.With(c.p, f, 64))
 			if e != api.OK || len(points) != c.n || points[0] != c.first || points[c.n-1] != c.last {
 				t.Errorf("%s(%v) of the field %d = %v, %d", c.of, c.p, f, points, e)
 			}
@@ -203,7 +197,7 @@ func TestWorker(t *testing.T) {
 
 func TestWorkerByHand(t *testing.T) {
 	for _, f := range sample.Fields() {
-		p := with(sample.Plan(4, 2, 3, 0, 0, 1), f, 7)
+		p := sample.With(sample.Plan(4, 2, 3, 0, 0, 1), f, 7)
 		for x, i := range map[uint64]int{5: 0, 6: 1, 7: 2, 8: 3} {
 			wantWorker(t, p, x, i, true, api.OK)
 		}
@@ -219,7 +213,7 @@ func TestWorkerByHand(t *testing.T) {
 	p := sample.Plan(4, 2, 3, 0, 0, 1)
 	for _, x := range l(2013265921, 2013265926, 1<<32+5, 1<<63, 18446744069414584320) {
 		wantWorker(t, p, x, 0, false, api.ErrArg)
-		wantWorker(t, with(p, api.Large, 1), x, 0, false, api.OK)
+		wantWorker(t, sample.With(p, api.Large, 1), x, 0, false, api.OK)
 	}
 }
 
@@ -229,7 +223,7 @@ func TestWorkerAtTheLimits(t *testing.T) {
 			n, k, t     int
 			first, last uint64
 		}{{1, 1, 0, 1, 1}, {64, 1, 0, 1, 64}, {1, 64, 0, 64, 64}, {64, 64, 0, 64, 127}, {1, 1, 63, 64, 64}, {64, 1, 63, 64, 127}, {64, 32, 32, 64, 127}} {
-			p := with(sample.Plan(c.n, c.k, c.t, 0, 0, 1), f, 64)
+			p := sample.With(sample.Plan(c.n, c.k, c.t, 0, 0, 1), f, 64)
 			wantWorker(t, p, c.first, 0, true, api.OK)
 			wantWorker(t, p, c.last, c.n-1, true, api.OK)
 			for _, x := range l(0, c.first-1, c.last+1, sample.Prime(f)-1) {
@@ -245,13 +239,13 @@ func TestWorkerAtTheLimits(t *testing.T) {
 // Whether a plan is accepted is not asked, nor whatever else it says beside N, K and T.
 func TestNothingElseCounts(t *testing.T) {
 	for _, f := range sample.Fields() {
-		plain := with(sample.Plan(4, 2, 1, 0, 0, 1), f, 1)
+		plain := sample.With(sample.Plan(4, 2, 1, 0, 0, 1), f, 1)
 		rows, _ := Rows(plain)
 		for _, silent := range []int{0, 1, 64} {
 			for _, faulty := range []int{0, 2, 64} {
 				for _, degree := range []int{0, 1, 3, 1024} {
 					for _, width := range []int{1, 5, 64} {
-						p := with(sample.Plan(4, 2, 1, silent, faulty, degree), f, width)
+						p := sample.With(sample.Plan(4, 2, 1, silent, faulty, degree), f, width)
 						wantPoints(t, p, l(0, 1), l(2), l(3, 4, 5, 6), api.OK)
 						wantWorker(t, p, 6, 3, true, api.OK)
 						wantWorker(t, p, 7, 0, false, api.OK)
@@ -272,7 +266,7 @@ func grounds() []api.Plan {
 		for n := 1; n <= 6; n++ {
 			for k := 1; k <= 5; k++ {
 				for pads := range 5 {
-					plans = append(plans, with(sample.Plan(n, k, pads, 0, 0, 1), f, 2))
+					plans = append(plans, sample.With(sample.Plan(n, k, pads, 0, 0, 1), f, 2))
 				}
 			}
 		}
@@ -280,7 +274,7 @@ func grounds() []api.Plan {
 			for _, k := range []int{1, 10, 31, 32, 63, 64} {
 				for _, pads := range []int{0, 1, 8, 32, 63} {
 					if k+pads <= 64 {
-						plans = append(plans, with(sample.Plan(n, k, pads, 2, 3, 5), f, 64))
+						plans = append(plans, sample.With(sample.Plan(n, k, pads, 2, 3, 5), f, 64))
 					}
 				}
 			}
@@ -327,7 +321,7 @@ func TestRowsByHand(t *testing.T) {
 			{4, 2, 1, [][]uint64{l(1, top-3, 3), l(3, top-8, 6), l(6, top-15, 10), l(10, top-24, 15)}},
 			{2, 1, 3, [][]uint64{l(top-1, 4, top-6, 4), l(top-4, 15, top-20, 10)}},
 		} {
-			wantRows(t, with(sample.Plan(c.n, c.k, c.t, 0, 0, 1), f, 1), c.rows, api.OK)
+			wantRows(t, sample.With(sample.Plan(c.n, c.k, c.t, 0, 0, 1), f, 1), c.rows, api.OK)
 		}
 	}
 }

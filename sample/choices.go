@@ -1,6 +1,7 @@
 package sample
 
 import (
+	"math"
 	"slices"
 
 	"conclave/api"
@@ -46,4 +47,9 @@ func SomeChoices(n, many int) [][]int {
 		choices = append(choices, Mixed(from, n)[:many])
 	}
 	return choices
+}
+
+// NoWorkers are numbers of which none is a worker's.
+func NoWorkers(p api.Plan) []int {
+	return []int{-1, -2, -p.N, -64, math.MinInt, math.MinInt + 1, p.N, p.N + 1, p.N + 64, 65, 128, 1 << 32, 1<<32 + 1, math.MaxInt - 1, math.MaxInt}
 }

@@ -30,16 +30,6 @@ func Run(f api.Field, from, n int) []uint64 {
 	return l
 }
 
-// Blocks are n lists of width elements each, other ones for each number from.
-func Blocks(f api.Field, from, n, width int) [][]uint64 {
-	draws := Scattered(f, from+n*width)[from:]
-	lists := make([][]uint64, n)
-	for i := range lists {
-		lists[i] = slices.Clone(draws[i*width : (i+1)*width])
-	}
-	return lists
-}
-
 // Padded is l with noughts behind it, n elements in all.
 func Padded(l []uint64, n int) []uint64 {
 	return append(slices.Clone(l), make([]uint64, n-len(l))...)

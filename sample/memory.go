@@ -38,42 +38,58 @@ func copies[T any](lists [][]T) [][]T {
 	return l
 }
 
-func same[T comparable](a, b [][]T) bool {
-	return slices.EqualFunc(a, b, slices.Equal[[]T])
+// kind is what lists are made of: whether two of its items are the same, and another one than a given one.
+type kind[T any] struct {
+	equal func(a, b T) bool
+	other func(a T) T
+}
+
+func kindOf[T comparable](other func(a T) T) kind[T] {
+	return kind[T]{func(a, b T) bool { return a == b }, other}
+}
+
+func (k kind[T]) same(a, b [][]T) bool {
+	return slices.EqualFunc(a, b, func(a, b []T) bool { return slices.EqualFunc(a, b, k.equal) })
 }
 
 // Apart calls do twice with roomy copies of the lists, and tells what is amiss: whether it changed them, whether any two of what was handed in and answered share memory, found by writing over one and looking at the others. It is empty, if nothing is.
 func Apart[T Item](do func(lists [][]T) [][]T, lists ...[]T) string {
-	return apart(other[T], do, lists)
+	return apart(kindOf(other[T]), do, lists)
 }
 
-func apart[T comparable](other func(T) T, do func(lists [][]T) [][]T, lists [][]T) string {
+// ApartBlocks is Apart of lists of blocks: of the lists, not of the blocks in them.
+func ApartBlocks(do func(lists [][][]uint64) [][][]uint64, lists ...[][]uint64) string {
+	longer := func(block []uint64) []uint64 { return append(slices.Clone(block), 85) }
+	return apart(kind[[]uint64]{slices.Equal[[]uint64], longer}, do, lists)
+}
+
+func apart[T any](k kind[T], do func(lists [][]T) [][]T, lists [][]T) string {
 	handed, whole := make([][]T, len(lists)), make([][]T, len(lists))
 	for i := range lists {
 		var none T
-		handed[i], whole[i] = roomy(lists[i], other(none), none, other(none))
+		handed[i], whole[i] = roomy(lists[i], k.other(none), none, k.other(none))
 	}
 	before := copies(whole)
 	answers := append(do(handed), do(handed)...)
-	if !same(whole, before) {
+	if !k.same(whole, before) {
 		return "what was handed in is changed"
 	}
 	for i := range answers {
 		others := copies(answers)
-		scribble(answers[i], other)
+		scribble(answers[i], k.other)
 		others[i] = answers[i]
-		if !same(whole, before) {
+		if !k.same(whole, before) {
 			return "an answer and an argument share memory"
 		}
-		if !same(answers, others) {
+		if !k.same(answers, others) {
 			return "two answers share memory"
 		}
 	}
 	after := copies(answers)
 	for i := range whole {
-		scribble(whole[i], other)
+		scribble(whole[i], k.other)
 	}
-	if !same(answers, after) {
+	if !k.same(answers, after) {
 		return "an argument and an answer share memory"
 	}
 	return ""
@@ -85,7 +101,7 @@ func apartIn[T comparable](other func(T) T, list func(p *api.Prog) *[]T, do func
 	for i := range progs {
 		lists[i] = *list(&progs[i])
 	}
-	return apart(other, func(lists [][]T) (answers [][]T) {
+	return apart(kindOf(other), func(lists [][]T) (answers [][]T) {
 		handed := slices.Clone(progs)
 		for i := range handed {
 			*list(&handed[i]) = lists[i]

@@ -32,6 +32,28 @@ func TestApartFindsNothingElse(t *testing.T) {
 	}
 }
 
+func TestApartBlocksFindsWhatIsAmiss(t *testing.T) {
+	kept := [][]uint64{{4}, {5, 6}}
+	for what, do := range map[string]func(h [][][]uint64) [][][]uint64{
+		"changes an argument":         func(h [][][]uint64) [][][]uint64 { h[0][0] = []uint64{9}; return nil },
+		"takes a block away":          func(h [][][]uint64) [][][]uint64 { h[0][1] = nil; return nil },
+		"changes the room behind one": func(h [][][]uint64) [][][]uint64 { _ = append(h[1], []uint64{1}); return nil },
+		"answers an argument":         func(h [][][]uint64) [][][]uint64 { return h[:1] },
+		"answers a piece of one":      func(h [][][]uint64) [][][]uint64 { return [][][]uint64{h[0][1:]} },
+		"answers none, and its room":  func(h [][][]uint64) [][][]uint64 { return [][][]uint64{h[1][:0]} },
+		"answers two pieces of one":   func(h [][][]uint64) [][][]uint64 { a := Blocks(api.Small, 1, 2, 3); return [][][]uint64{a[:1], a[1:]} },
+		"answers what it keeps":       func(h [][][]uint64) [][][]uint64 { return [][][]uint64{kept} },
+	} {
+		if ApartBlocks(do, [][]uint64{{1, 2}, {3}}, nil) == "" {
+			t.Errorf("a call that %s is not found", what)
+		}
+	}
+	fresh := func(h [][][]uint64) [][][]uint64 { return [][][]uint64{copies(h[0]), nil, copies(h[1])} }
+	if wrong := ApartBlocks(fresh, [][]uint64{{1, 2}, {3}}, nil); wrong != "" {
+		t.Errorf("new memory: %s", wrong)
+	}
+}
+
 func TestApartProgsFindsWhatIsAmiss(t *testing.T) {
 	kept := Prog(1, 2, 3, 4)
 	for what, do := range map[string]func(h []api.Prog) []api.Prog{

@@ -11,6 +11,12 @@ func Plan(n, k, t, s, e, degree int) api.Plan {
 	return api.Plan{Field: api.Small, N: n, K: k, T: t, S: s, E: e, Degree: degree, Width: 1}
 }
 
+// With is p with another field and Width.
+func With(p api.Plan, f api.Field, width int) api.Plan {
+	p.Field, p.Width = f, width
+	return p
+}
+
 // PlanNumbers are all numbers of a plan, to be looked at or changed.
 func PlanNumbers(p *api.Plan) []*int {
 	return []*int{&p.N, &p.K, &p.T, &p.S, &p.E, &p.Degree, &p.Width}

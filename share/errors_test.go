@@ -111,8 +111,8 @@ func good(p api.Plan) input {
 func ordinary() []api.Plan {
 	var plans []api.Plan
 	for _, f := range sample.Fields() {
-		plans = append(plans, with(sample.Plan(6, 3, 2, 0, 0, 1), f, 3), with(sample.Plan(4, 2, 1, 0, 0, 1), f, 1), with(sample.Plan(3, 2, 0, 0, 0, 1), f, 2),
-			with(sample.Plan(1, 1, 0, 0, 0, 1), f, 1), with(sample.Plan(64, 1, 4, 0, 0, 1), f, 4), with(sample.Plan(5, 1, 4, 9, 9, 9), f, 2))
+		plans = append(plans, sample.With(sample.Plan(6, 3, 2, 0, 0, 1), f, 3), sample.With(sample.Plan(4, 2, 1, 0, 0, 1), f, 1), sample.With(sample.Plan(3, 2, 0, 0, 0, 1), f, 2),
+			sample.With(sample.Plan(1, 1, 0, 0, 0, 1), f, 1), sample.With(sample.Plan(64, 1, 4, 0, 0, 1), f, 4), sample.With(sample.Plan(5, 1, 4, 9, 9, 9), f, 2))
 	}
 	return plans
 }
@@ -143,7 +143,7 @@ func TestNoPlan(t *testing.T) {
 // The numbers next to those that may be, at each place, in both fields, with blocks that would fit.
 func TestNoPlanByHand(t *testing.T) {
 	for _, f := range sample.Fields() {
-		p := with(sample.Plan(11, 3, 1, 0, 2, 2), f, 2)
+		p := sample.With(sample.Plan(11, 3, 1, 0, 2, 2), f, 2)
 		want(t, good(p), api.OK, api.OK, api.OK)
 		for i, wrong := range [][]int{{0, -1, 65}, {0, -1, 64, 65}, {-1, 62, 63}, {-1, 65}, {-1, 65}, {-1, 1025}, {0, -1, 65}} {
 			for _, n := range append(wrong, math.MinInt, math.MaxInt) {
@@ -158,7 +158,7 @@ func TestNoPlanByHand(t *testing.T) {
 		// Numbers whose sums would wrap to ones that may be.
 		for _, bad := range []api.Plan{sample.Plan(4, math.MaxInt, math.MinInt, 0, 0, 1), sample.Plan(4, math.MinInt, math.MinInt, 0, 0, 1), sample.Plan(4, -2, 4, 0, 0, 1), sample.Plan(4, 4, -2, 0, 0, 1)} {
 			for _, in := range handed(bad) {
-				in.p = with(bad, f, 1)
+				in.p = sample.With(bad, f, 1)
 				wantNone(t, in)
 			}
 		}
@@ -178,14 +178,6 @@ func TestNoField(t *testing.T) {
 	}
 }
 
-// put is the blocks with a at one place of one of them.
-func put(blocks [][]uint64, block, place int, a uint64) [][]uint64 {
-	blocks = slices.Clone(blocks)
-	blocks[block] = slices.Clone(blocks[block])
-	blocks[block][place] = a
-	return blocks
-}
-
 // A number that is no element at each place of data, pads and shares.
 func TestNoElement(t *testing.T) {
 	for _, p := range ordinary() {
@@ -193,17 +185,17 @@ func TestNoElement(t *testing.T) {
 			for place := range p.Width {
 				for block := range p.K {
 					in := good(p)
-					in.data = put(in.data, block, place, a)
+					in.data = sample.Put(in.data, block, place, a)
 					want(t, in, api.ErrArg, api.ErrArg, api.OK)
 				}
 				for block := range p.T {
 					in := good(p)
-					in.pads = put(in.pads, block, place, a)
+					in.pads = sample.Put(in.pads, block, place, a)
 					want(t, in, api.ErrArg, api.ErrArg, api.OK)
 				}
 				for block := range p.K + p.T {
 					in := good(p)
-					in.shares = put(in.shares, block, place, a)
+					in.shares = sample.Put(in.shares, block, place, a)
 					want(t, in, api.OK, api.OK, api.ErrArg)
 				}
 			}
@@ -213,7 +205,7 @@ func TestNoElement(t *testing.T) {
 
 // The greatest element is one; what is none of Small may be one of Large.
 func TestGreatestElement(t *testing.T) {
-	small, large := sample.Plan(3, 1, 1, 0, 0, 1), with(sample.Plan(3, 1, 1, 0, 0, 1), api.Large, 1)
+	small, large := sample.Plan(3, 1, 1, 0, 0, 1), sample.With(sample.Plan(3, 1, 1, 0, 0, 1), api.Large, 1)
 	for _, p := range []api.Plan{small, large} {
 		top := single(sample.Prime(p.Field) - 1)
 		want(t, input{p: p, data: top, pads: top, shares: slices.Concat(top, top), who: []int{2, 0}}, api.OK, api.OK, api.OK)
@@ -250,14 +242,9 @@ func TestNoElementWhereNothingIsAsked(t *testing.T) {
 	}
 }
 
-// noWorkers are numbers of which none is a worker's.
-func noWorkers(p api.Plan) []int {
-	return []int{-1, -2, -p.N, -64, math.MinInt, math.MinInt + 1, p.N, p.N + 1, p.N + 64, 65, 128, 1 << 32, 1<<32 + 1, math.MaxInt - 1, math.MaxInt}
-}
-
 func TestNoWorker(t *testing.T) {
 	for _, p := range ordinary() {
-		for _, worker := range noWorkers(p) {
+		for _, worker := range sample.NoWorkers(p) {
 			in := good(p)
 			in.worker = worker
 			want(t, in, api.OK, api.ErrArg, api.OK)
@@ -287,19 +274,13 @@ func TestNoWorker(t *testing.T) {
 	}
 }
 
-// cut is the first n blocks, with more of them behind where there are too few.
-func cut(p api.Plan, blocks [][]uint64, n int) [][]uint64 {
-	more := max(0, n-len(blocks))
-	return slices.Concat(blocks, sample.Blocks(p.Field, 5, more, p.Width))[:n]
-}
-
 func TestTooFewAndTooMany(t *testing.T) {
 	for _, p := range ordinary() {
 		n := p.K + p.T
 		for _, k := range []int{0, 1, p.K - 1, p.K, p.K + 1, n, 64, 65, 5000} {
 			for _, pads := range []int{0, 1, max(p.T-1, 0), p.T, p.T + 1, n, 64, 65, 5000} {
 				in := good(p)
-				in.data, in.pads = cut(p, in.data, k), cut(p, in.pads, pads)
+				in.data, in.pads = sample.Resized(p, in.data, k), sample.Resized(p, in.pads, pads)
 				e := errorBy(false, k != p.K || pads != p.T, false)
 				want(t, in, e, e, api.OK)
 			}
@@ -311,7 +292,7 @@ func TestTooFewAndTooMany(t *testing.T) {
 				for i := range names {
 					in.who = append(in.who, i%p.N)
 				}
-				in.shares = cut(p, in.shares, shares)
+				in.shares = sample.Resized(p, in.shares, shares)
 				want(t, in, api.OK, api.OK, errorBy(false, names != n || shares != n, false))
 			}
 		}
@@ -348,7 +329,7 @@ func TestTooShortAndTooLong(t *testing.T) {
 		}
 		want(t, in, api.ErrShape, api.ErrShape, api.ErrShape)
 	}
-	p := with(sample.Plan(4, 2, 1, 0, 0, 1), api.Large, 2)
+	p := sample.With(sample.Plan(4, 2, 1, 0, 0, 1), api.Large, 2)
 	in := good(p)
 	in.data, in.shares = lists(l(1), l(2, 3, 4)), lists(l(1), l(2, 3), l(4, 5, 6))
 	want(t, in, api.ErrShape, api.ErrShape, api.ErrShape)
@@ -377,7 +358,7 @@ func TestTwice(t *testing.T) {
 	}
 	// All of 64, and each pair next to another.
 	for _, f := range sample.Fields() {
-		in := good(with(sample.Plan(64, 60, 4, 0, 0, 1), f, 1))
+		in := good(sample.With(sample.Plan(64, 60, 4, 0, 0, 1), f, 1))
 		want(t, in, api.OK, api.OK, api.OK)
 		for i := range 63 {
 			in.who = sample.Inputs(64)
@@ -406,21 +387,6 @@ func TestTooFewWorkersToOpen(t *testing.T) {
 	}
 }
 
-// faults are blocks with all kinds of faults, and with none, where there should be n of width elements.
-func faults(p api.Plan, n int) [][][]uint64 {
-	fine := sample.Blocks(p.Field, 4, n, p.Width)
-	prime := sample.Prime(p.Field)
-	short, long := slices.Clone(fine), slices.Clone(fine)
-	for i := range fine {
-		short[i], long[i] = fine[i][1:], append(slices.Clone(fine[i]), 0)
-	}
-	all := [][][]uint64{fine, short, long, nil, append(slices.Clone(fine), fine...), append(slices.Clone(fine), nil), append(slices.Clone(fine), l(prime)), append(slices.Clone(long), l(0, prime))}
-	if n > 0 {
-		all = append(all, fine[1:], put(fine, n-1, p.Width-1, prime), put(fine, 0, 0, math.MaxUint64), put(long, 0, p.Width, prime), put(fine, n-1, 0, prime)[n-1:])
-	}
-	return all
-}
-
 // names are lists of workers with all kinds of faults, and with none.
 func names(p api.Plan) [][]int {
 	n := p.K + p.T
@@ -437,16 +403,16 @@ func TestWhichErrorComesFirst(t *testing.T) {
 			told[e]++
 		}
 	}
-	for _, p := range append(ordinary(), sample.Plan(0, 2, 1, 0, 0, 1), sample.Plan(4, 2, 1, 0, 65, 1), with(sample.Plan(4, 2, 1, 0, 0, 1), api.Large, 65)) {
-		for _, data := range faults(p, p.K) {
-			for _, pads := range faults(p, p.T) {
+	for _, p := range append(ordinary(), sample.Plan(0, 2, 1, 0, 0, 1), sample.Plan(4, 2, 1, 0, 65, 1), sample.With(sample.Plan(4, 2, 1, 0, 0, 1), api.Large, 65)) {
+		for _, data := range sample.FaultyBlocks(p, p.K) {
+			for _, pads := range sample.FaultyBlocks(p, p.T) {
 				for _, worker := range []int{0, p.N - 1, -1, p.N, math.MaxInt} {
 					count(input{p: p, data: data, pads: pads, worker: worker})
 				}
 			}
 		}
 		for _, who := range names(p) {
-			for _, shares := range faults(p, p.K+p.T) {
+			for _, shares := range sample.FaultyBlocks(p, p.K+p.T) {
 				count(input{p: p, who: who, shares: shares})
 			}
 		}

@@ -39,7 +39,7 @@ func TestOpenOfSharesIsTheDataAndThePads(t *testing.T) {
 // Shares of Share serve as those of All do, and the order in which they are named is no matter, but that each has its own.
 func TestOpenInEachOrder(t *testing.T) {
 	for _, f := range sample.Fields() {
-		p := with(sample.Plan(5, 2, 2, 0, 0, 1), f, 3)
+		p := sample.With(sample.Plan(5, 2, 2, 0, 0, 1), f, 3)
 		blocks := sample.Blocks(f, 7, 4, 3)
 		orders := 0
 		for code := range 5 * 5 * 5 * 5 {
@@ -94,7 +94,7 @@ func sums(f api.Field, a, b [][]uint64) [][]uint64 {
 func TestSharesOfSumsAreSumsOfShares(t *testing.T) {
 	everywhere(func(p api.Plan, blocks, _, _ [][]uint64) {
 		n := p.K + p.T
-		for _, other := range [][][]uint64{sample.Blocks(p.Field, 3*n, n, p.Width), edgy(p)} {
+		for _, other := range [][][]uint64{sample.Blocks(p.Field, 3*n, n, p.Width), sample.EdgeBlocks(p.Field, 0, p.K+p.T, p.Width)} {
 			sum := sums(p.Field, blocks, other)
 			want := sums(p.Field, all(t, p, blocks), all(t, p, other))
 			wantAll(t, p, sum[:p.K], sum[p.K:], want, api.OK)

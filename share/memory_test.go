@@ -12,7 +12,7 @@ import (
 
 // some are plans that are tried for their memory: ordinary ones, the limits, and one that may not be.
 func some() []api.Plan {
-	return append(ordinary(), sample.Plan(1, 1, 0, 0, 0, 0), sample.Plan(2, 3, 2, 0, 0, 1), with(sample.Plan(64, 32, 32, 0, 0, 1), api.Large, 2), with(sample.Plan(3, 2, 1, 0, 0, 1), api.Small, 64), sample.Plan(0, 2, 1, 0, 0, 1))
+	return append(ordinary(), sample.Plan(1, 1, 0, 0, 0, 0), sample.Plan(2, 3, 2, 0, 0, 1), sample.With(sample.Plan(64, 32, 32, 0, 0, 1), api.Large, 2), sample.With(sample.Plan(3, 2, 1, 0, 0, 1), api.Small, 64), sample.Plan(0, 2, 1, 0, 0, 1))
 }
 
 // calls are all calls of a plan, handed K + T blocks.
@@ -42,7 +42,7 @@ func calls(p api.Plan) map[string]func(h [][]uint64) [][]uint64 {
 func TestMemory(t *testing.T) {
 	for _, p := range some() {
 		prime := sample.Prime(p.Field)
-		handed := append(fillings(p), put(fillings(p)[0], 0, 0, prime), slices.Repeat(lists(l(1)), p.K+p.T), slices.Repeat(lists(nil), p.K+p.T))
+		handed := append(fillings(p), sample.Put(fillings(p)[0], 0, 0, prime), slices.Repeat(lists(l(1)), p.K+p.T), slices.Repeat(lists(nil), p.K+p.T))
 		for _, blocks := range handed {
 			for what, do := range calls(p) {
 				if wrong := sample.Apart(do, blocks...); wrong != "" {
@@ -65,39 +65,23 @@ func TestNamesAreNotChanged(t *testing.T) {
 	}
 }
 
-// outer hands all calls lists of blocks with room behind their ends, and has all lists of lists that are answered.
-func outer(p api.Plan, data, pads, shares [][]uint64) [][][]uint64 {
-	polys, _ := Polys(p, data, pads)
-	all, _ := All(p, data, pads)
-	Share(p, data, pads, 0)
-	opened, openedPads, _ := Open(p, sample.Inputs(p.K+p.T), shares)
-	return [][][]uint64{polys, all, opened, openedPads}
-}
-
-// copies are the lists of lists, all of which are new.
-func copies(l [][][]uint64) [][][]uint64 {
-	var c [][][]uint64
-	for _, lists := range l {
-		c = append(c, slices.Clone(lists))
+// outer are all calls of a plan, handed the data blocks, the pads and as many shares.
+func outer(p api.Plan) func(h [][][]uint64) [][][]uint64 {
+	return func(h [][][]uint64) [][][]uint64 {
+		polys, _ := Polys(p, h[0], h[1])
+		all, _ := All(p, h[0], h[1])
+		Share(p, h[0], h[1], 0)
+		data, pads, _ := Open(p, sample.Inputs(p.K+p.T), h[2])
+		return [][][]uint64{polys, all, data, pads}
 	}
-	return c
 }
 
 // Of lists of lists, too, none that is handed in is changed, and no two share their memory, the room behind their ends counted.
 func TestListsOfLists(t *testing.T) {
 	for _, p := range some() {
-		n := p.K + p.T
-		roomy := func(from, n int) [][]uint64 { return sample.Blocks(p.Field, from, n+3, p.Width) }
-		handed := [][][]uint64{roomy(1, p.K), roomy(2, p.T), roomy(3, n)}
-		before := copies(handed)
-		answers := append(outer(p, handed[0][:p.K], handed[1][:p.T], handed[2][:n]), outer(p, handed[0][:p.K], handed[1][:p.T], handed[2][:n])...)
-		for i := range answers {
-			others := copies(answers)
-			clear(answers[i][:cap(answers[i])])
-			others[i] = answers[i]
-			if !slices.EqualFunc(answers, others, same) || !slices.EqualFunc(handed, before, same) {
-				t.Errorf("%v: the answer %d shares memory with another list, or what was handed in is changed", p, i)
-			}
+		of := func(from, n int) [][]uint64 { return sample.Blocks(p.Field, from, n, p.Width) }
+		if wrong := sample.ApartBlocks(outer(p), of(1, p.K), of(2, p.T), of(3, p.K+p.T)); wrong != "" {
+			t.Errorf("%v: %s", p, wrong)
 		}
 	}
 }
@@ -105,8 +89,8 @@ func TestListsOfLists(t *testing.T) {
 // Lists without elements are lists that are nil, at each place.
 func TestListsWithoutElements(t *testing.T) {
 	for _, f := range sample.Fields() {
-		p := with(sample.Plan(2, 1, 0, 0, 0, 1), f, 1)
-		padded := with(sample.Plan(2, 1, 1, 0, 0, 1), f, 1)
+		p := sample.With(sample.Plan(2, 1, 0, 0, 0, 1), f, 1)
+		padded := sample.With(sample.Plan(2, 1, 1, 0, 0, 1), f, 1)
 		for _, none := range [][][]uint64{nil, {}, single(4)[:0]} {
 			wantPolys(t, p, single(4), none, single(4), api.OK)
 			wantAll(t, p, single(4), none, single(4, 4), api.OK)

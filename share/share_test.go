@@ -24,12 +24,6 @@ func single(a ...uint64) (blocks [][]uint64) {
 
 func same(a, b [][]uint64) bool { return slices.EqualFunc(a, b, slices.Equal[[]uint64]) }
 
-// with is p with another field and Width.
-func with(p api.Plan, f api.Field, width int) api.Plan {
-	p.Field, p.Width = f, width
-	return p
-}
-
 func wantPolys(t *testing.T, p api.Plan, data, pads, answer [][]uint64, e api.Errno) {
 	t.Helper()
 	if polys, got := Polys(p, data, pads); !same(polys, answer) || got != e {
@@ -140,7 +134,7 @@ func grounds() []api.Plan {
 		for n := 1; n <= 6; n++ {
 			for k := 1; k <= 4; k++ {
 				for pads := range 4 {
-					plans = append(plans, with(sample.Plan(n, k, pads, 0, 0, 1), f, 1+(n+k+pads)%3))
+					plans = append(plans, sample.With(sample.Plan(n, k, pads, 0, 0, 1), f, 1+(n+k+pads)%3))
 				}
 			}
 		}
@@ -148,7 +142,7 @@ func grounds() []api.Plan {
 			for _, k := range []int{1, 10, 31, 63} {
 				for _, pads := range []int{0, 1, 8, 32} {
 					if k+pads <= 64 {
-						plans = append(plans, with(sample.Plan(n, k, pads, 2, 3, 5), f, 5))
+						plans = append(plans, sample.With(sample.Plan(n, k, pads, 2, 3, 5), f, 5))
 					}
 				}
 			}
@@ -170,18 +164,6 @@ func low(p api.Plan) [][]uint64 {
 	return blocks
 }
 
-// edgy are blocks of the elements at which words and primes end, in turn.
-func edgy(p api.Plan) [][]uint64 {
-	edges := sample.Edges(p.Field)
-	blocks := make([][]uint64, p.K+p.T)
-	for i := range blocks {
-		for place := range p.Width {
-			blocks[i] = append(blocks[i], edges[(7*i+place)%len(edges)])
-		}
-	}
-	return blocks
-}
-
 // fillings are data blocks and, behind them, pads: without any order, 0 alone, one less than the prime alone, of low polynomials, of edges, and with one block of ones.
 func fillings(p api.Plan) [][][]uint64 {
 	n := p.K + p.T
@@ -191,7 +173,7 @@ func fillings(p api.Plan) [][][]uint64 {
 		sample.Blocks(p.Field, n+p.N, n, p.Width),
 		slices.Repeat(lists(make([]uint64, p.Width)), n),
 		slices.Repeat(lists(slices.Repeat(l(sample.Prime(p.Field)-1), p.Width)), n),
-		low(p), edgy(p), one,
+		low(p), sample.EdgeBlocks(p.Field, 0, p.K+p.T, p.Width), one,
 	}
 }
 
@@ -250,7 +232,7 @@ func TestPolysAreTrimmed(t *testing.T) {
 	for _, f := range sample.Fields() {
 		for _, n := range []int{1, 2, 3, 8, 62, 63, 64} {
 			for _, k := range []int{1, n/2 + 1, n} {
-				p := with(sample.Plan(3, k, n-k, 0, 0, 1), f, 64)
+				p := sample.With(sample.Plan(3, k, n-k, 0, 0, 1), f, 64)
 				var want [][]uint64
 				for place := range p.Width {
 					want = append(want, sample.Run(f, place, place%(n+1)))
@@ -320,7 +302,7 @@ func TestSharesByHand(t *testing.T) {
 			{3, 1, 1, 1, single(prime - 1), single(0), lists(l(prime-1, 1)), single(1, 2, 3)},
 			{2, 2, 0, 1, single(prime-2, prime-1), nil, lists(l(prime-2, 1)), single(0, 1)},
 		} {
-			p := with(sample.Plan(c.n, c.k, c.t, 0, 0, 1), f, c.width)
+			p := sample.With(sample.Plan(c.n, c.k, c.t, 0, 0, 1), f, c.width)
 			wantPolys(t, p, c.data, c.pads, c.polys, api.OK)
 			wantAll(t, p, c.data, c.pads, c.shares, api.OK)
 			for i, share := range c.shares {
@@ -354,7 +336,7 @@ func TestSharesAtTheLimits(t *testing.T) {
 	for _, f := range sample.Fields() {
 		for _, c := range []struct{ n, k, t int }{{64, 64, 0}, {64, 1, 63}, {64, 32, 32}, {64, 63, 1}, {1, 64, 0}, {1, 1, 63}, {64, 4, 0}, {64, 1, 3}, {1, 2, 2}} {
 			for _, width := range []int{1, 64} {
-				p := with(sample.Plan(c.n, c.k, c.t, 0, 0, 1), f, width)
+				p := sample.With(sample.Plan(c.n, c.k, c.t, 0, 0, 1), f, width)
 				blocks, shares := terms(0, c.k+c.t, width), terms(c.k+c.t, c.n, width)
 				data, pads := blocks[:c.k], blocks[c.k:]
 				var polys [][]uint64
@@ -380,7 +362,7 @@ func TestNothingElseCounts(t *testing.T) {
 		for _, silent := range []int{0, 1, 64} {
 			for _, faulty := range []int{0, 2, 64} {
 				for _, degree := range []int{0, 1, 3, 1024} {
-					p := with(sample.Plan(4, 2, 1, silent, faulty, degree), f, 1)
+					p := sample.With(sample.Plan(4, 2, 1, silent, faulty, degree), f, 1)
 					wantPolys(t, p, single(5, 7), single(9), lists(l(5, 2)), api.OK)
 					wantShare(t, p, single(5, 7), single(9), 3, l(17), api.OK)
 					wantAll(t, p, single(5, 7), single(9), single(11, 13, 15, 17), api.OK)
@@ -474,7 +456,7 @@ func TestOpenByHand(t *testing.T) {
 			{3, 1, 1, 1, []int{2, 1}, single(3, 2), single(prime - 1), single(0)},
 			{64, 1, 1, 1, []int{63, 0}, single(65, 2), single(0), single(1)},
 		} {
-			p := with(sample.Plan(c.n, c.k, c.t, 0, 0, 1), f, c.width)
+			p := sample.With(sample.Plan(c.n, c.k, c.t, 0, 0, 1), f, c.width)
 			wantOpen(t, p, c.who, c.shares, c.data, c.pads, api.OK)
 		}
 	}
