@@ -63,6 +63,15 @@ func ApartBlocks(do func(lists [][][]uint64) [][][]uint64, lists ...[][]uint64) 
 	return apart(kind[[]uint64]{slices.Equal[[]uint64], longer}, do, lists)
 }
 
+// ApartReplies is Apart of lists of replies: of the lists, not of the Values in them.
+func ApartReplies(do func(lists [][]api.Reply) [][]api.Reply, lists ...[]api.Reply) string {
+	equal := func(a, b api.Reply) bool { return a.Worker == b.Worker && slices.Equal(a.Values, b.Values) }
+	longer := func(r api.Reply) api.Reply {
+		return api.Reply{Worker: other(r.Worker), Values: append(slices.Clone(r.Values), 85)}
+	}
+	return apart(kind[api.Reply]{equal, longer}, do, lists)
+}
+
 func apart[T any](k kind[T], do func(lists [][]T) [][]T, lists [][]T) string {
 	handed, whole := make([][]T, len(lists)), make([][]T, len(lists))
 	for i := range lists {

@@ -1,6 +1,7 @@
 package sample
 
 import (
+	"slices"
 	"testing"
 
 	"conclave/api"
@@ -50,6 +51,29 @@ func TestApartBlocksFindsWhatIsAmiss(t *testing.T) {
 	}
 	fresh := func(h [][][]uint64) [][][]uint64 { return [][][]uint64{copies(h[0]), nil, copies(h[1])} }
 	if wrong := ApartBlocks(fresh, [][]uint64{{1, 2}, {3}}, nil); wrong != "" {
+		t.Errorf("new memory: %s", wrong)
+	}
+}
+
+func TestApartRepliesFindsWhatIsAmiss(t *testing.T) {
+	list := []api.Reply{{Worker: 1, Values: []uint64{1, 2}}, {Values: []uint64{3}}}
+	for what, do := range map[string]func(h [][]api.Reply) [][]api.Reply{
+		"changes a worker":  func(h [][]api.Reply) [][]api.Reply { h[0][1].Worker++; return nil },
+		"takes values away": func(h [][]api.Reply) [][]api.Reply { h[0][0].Values = nil; return nil },
+		"puts replies in an order": func(h [][]api.Reply) [][]api.Reply {
+			slices.SortFunc(h[0], func(a, b api.Reply) int { return a.Worker - b.Worker })
+			return nil
+		},
+		"changes the room behind one": func(h [][]api.Reply) [][]api.Reply { _ = append(h[0], api.Reply{}); return nil },
+		"answers an argument":         func(h [][]api.Reply) [][]api.Reply { return h },
+		"answers a piece of one":      func(h [][]api.Reply) [][]api.Reply { return [][]api.Reply{h[0][1:]} },
+	} {
+		if ApartReplies(do, list) == "" {
+			t.Errorf("a call that %s is not found", what)
+		}
+	}
+	fresh := func(h [][]api.Reply) [][]api.Reply { return copies(h) }
+	if wrong := ApartReplies(fresh, list, nil); wrong != "" {
 		t.Errorf("new memory: %s", wrong)
 	}
 }
