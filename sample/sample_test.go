@@ -47,3 +47,27 @@ func TestMixed(t *testing.T) {
 		}
 	}
 }
+
+// Which numbers are tried as draws leans on it: without numbers past the primes a rest would go unseen.
+func TestTape(t *testing.T) {
+	edges := TapeEdges()
+	for _, f := range Fields() {
+		p := Prime(f)
+		for _, a := range []uint64{p - 1, p, p + 1, 1<<64 - 1} {
+			if !slices.Contains(edges, a) {
+				t.Errorf("field %d: %d is no edge", f, a)
+			}
+		}
+	}
+	for from := range 5 {
+		tape := Tape(from, 2*len(edges))
+		for _, a := range edges {
+			if !slices.Contains(tape, a) {
+				t.Errorf("Tape(%d) lacks the edge %d", from, a)
+			}
+		}
+		if len(tape) != 2*len(edges) || slices.Equal(tape, Tape(from+1, len(tape))) || len(Tape(from, 0)) != 0 {
+			t.Errorf("Tape(%d): %s", from, Brief(tape))
+		}
+	}
+}
