@@ -1,8 +1,11 @@
 package sample
 
 import (
+	"math"
 	"slices"
 	"testing"
+
+	"conclave/api"
 )
 
 // Lists of places lean on it: an element that stood twice would make another error of them.
@@ -70,4 +73,32 @@ func TestTape(t *testing.T) {
 			t.Errorf("Tape(%d): %s", from, Brief(tape))
 		}
 	}
+}
+
+// What a message may be told by leans on these: both ends of all its numbers, and what is just past them.
+func TestMsgs(t *testing.T) {
+	tell := func(all []api.Msg) (rounds, workers, many map[int]int) {
+		rounds, workers, many = map[int]int{}, map[int]int{}, map[int]int{}
+		for _, m := range all {
+			rounds[m.Round]++
+			workers[m.Worker]++
+			many[len(m.Values)]++
+		}
+		return rounds, workers, many
+	}
+	want := func(what string, seen map[int]int, wanted ...int) {
+		for _, n := range wanted {
+			if seen[n] == 0 {
+				t.Errorf("%s: %d is not there", what, n)
+			}
+		}
+	}
+	rounds, workers, many := tell(Msgs())
+	want("rounds", rounds, 0, 1, 256, 65534, 65535)
+	want("workers", workers, 0, 1, 62, 63)
+	want("numbers of values", many, 0, 1, 2, 63, 64)
+	rounds, workers, many = tell(NoMsgs())
+	want("rounds of none", rounds, -1, math.MinInt, 65536, 1<<32, math.MaxInt)
+	want("workers of none", workers, -1, math.MinInt, 64, 1<<32, math.MaxInt)
+	want("numbers of values of none", many, 65, 4096, 4097)
 }
