@@ -196,15 +196,6 @@ func hexed(s string) []byte {
 	return b
 }
 
-// numbered are n bytes without any order, some others for each number from.
-func numbered(from, n int) []byte {
-	b := make([]byte, n)
-	for i, a := range sample.Scattered(api.Large, from+n)[from:] {
-		b[i] = byte(a >> 20)
-	}
-	return b
-}
-
 // P20.1
 
 func TestMessagesThatMayBe(t *testing.T) {

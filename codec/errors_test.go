@@ -59,7 +59,7 @@ func TestCutPieces(t *testing.T) {
 func TestSomethingBehindThePiece(t *testing.T) {
 	for _, m := range some() {
 		b := bytesBy(m)
-		for _, rest := range [][]byte{{0}, {255}, {0, 0, 0, 0}, make([]byte, 8), sealBy(nil), b, bytesBy(msg(api.Small)), numbered(3, 100)} {
+		for _, rest := range [][]byte{{0}, {255}, {0, 0, 0, 0}, make([]byte, 8), sealBy(nil), b, bytesBy(msg(api.Small)), sample.Bytes(3, 100)} {
 			wantError(t, slices.Concat(b, rest), api.ErrForm)
 			// A sum that is another one comes first.
 			wrong := slices.Concat(b, rest)
@@ -128,7 +128,7 @@ func TestCutInsides(t *testing.T) {
 			short := slices.Delete(slices.Clone(inner), n, n+1)
 			wantRead(t, sealBy(short), readBy(sealBy(short)))
 		}
-		for _, rest := range [][]byte{{0}, {255}, {0, 0, 0, 0}, make([]byte, 8), inner, sealBy(inner), numbered(2, 50)} {
+		for _, rest := range [][]byte{{0}, {255}, {0, 0, 0, 0}, make([]byte, 8), inner, sealBy(inner), sample.Bytes(2, 50)} {
 			wantError(t, sealBy(slices.Concat(inner, rest)), api.ErrForm)
 		}
 	}
@@ -310,7 +310,7 @@ func TestShortInsides(t *testing.T) {
 	}
 	for n := range 14 {
 		for from := range 50 {
-			wantError(t, sealBy(numbered(from, n)), api.ErrForm)
+			wantError(t, sealBy(sample.Bytes(from, n)), api.ErrForm)
 			wantError(t, sealBy(make([]byte, n)), api.ErrForm)
 		}
 	}
@@ -318,7 +318,7 @@ func TestShortInsides(t *testing.T) {
 
 // The insides of messages crossed: kinds, rounds, workers, fields, numbers of values, values, and what stands behind, right and wrong.
 func TestManyFaulty(t *testing.T) {
-	tails := [][]byte{nil, {0}, make([]byte, 3), make([]byte, 4), make([]byte, 8), make([]byte, 260), make([]byte, 512), make([]byte, 520), numbered(1, 16), slices.Repeat([]byte{255}, 8), hexed("78000000"), hexed("78000001"), hexed("ffffffff00000000"), hexed("ffffffff00000001")}
+	tails := [][]byte{nil, {0}, make([]byte, 3), make([]byte, 4), make([]byte, 8), make([]byte, 260), make([]byte, 512), make([]byte, 520), sample.Bytes(1, 16), slices.Repeat([]byte{255}, 8), hexed("78000000"), hexed("78000001"), hexed("ffffffff00000000"), hexed("ffffffff00000001")}
 	read := 0
 	for _, kind := range []byte{0, 1, 2, 3, 255} {
 		for _, round := range []uint32{0, 65535, 65536, 1 << 31} {

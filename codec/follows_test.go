@@ -40,7 +40,7 @@ func wantAgain(t *testing.T, b []byte) (read int) {
 
 // wild are bytes without any order in the form of a message, but for numbers that are too high now and then.
 func wild(from int) []byte {
-	b := numbered(from, 16)
+	b := sample.Bytes(from, 16)
 	f := sample.Fields()[b[0]%2]
 	most := b[1] % 6
 	inner := []byte{1 + b[2]%4/3 + b[2]%2, 0, b[3] / 250, b[4], b[5], 0, 0, b[6] / 250, b[7] % 70, byte(f), 0, 0, b[8] / 250, most}
@@ -60,8 +60,8 @@ func TestWhatIsReadIsWrittenAgain(t *testing.T) {
 		b := wild(from)
 		wantRead(t, b, readBy(b))
 		read += wantAgain(t, b)
-		wantAgain(t, numbered(from, from%80))
-		wantAgain(t, sealBy(numbered(from, from%80)))
+		wantAgain(t, sample.Bytes(from, from%80))
+		wantAgain(t, sealBy(sample.Bytes(from, from%80)))
 		wantAgain(t, append(b, 0))
 	}
 	if read < all/3 || read > all-all/20 {

@@ -10,23 +10,6 @@ import (
 	"conclave/sample"
 )
 
-// scribble writes something else over bytes, the room behind them too.
-func scribble(b []byte) {
-	for i := range b[:cap(b)] {
-		b[:cap(b)][i] ^= 85
-	}
-}
-
-// scribbled writes something else over blocks, and over the list of them.
-func scribbled(l [][]byte) {
-	for _, b := range l {
-		scribble(b)
-	}
-	for i := range l[:cap(l)] {
-		l[:cap(l)][i] = []byte{77}
-	}
-}
-
 func TestMemoryOfBlocks(t *testing.T) {
 	do := func(h [][]byte) [][]byte {
 		d := New()
@@ -71,11 +54,11 @@ func TestBlocksHandedIn(t *testing.T) {
 		whole := append(numbered(500), numbered(501)...)
 		p.do(t, written(whole[:size]))
 		c := p.copied()
-		scribble(whole)
+		sample.Scribble(whole)
 		p.stands(t, "writing over what was written")
 		c.stands(t, "writing over what was written ahead of Copy")
 		p.do(t, written(whole[size:]), written(whole[:size]), trimmed(many+2))
-		scribble(whole)
+		sample.Scribble(whole)
 		p.stands(t, "writing over what was written again")
 		p.do(t, written(of(1)))
 	}
@@ -88,8 +71,8 @@ func TestBlocksAnswered(t *testing.T) {
 			p := filled(t, many).do(t, trimmed(blocks))
 			c := p.copied()
 			before := p.d.Blocks()
-			scribbled(p.d.Blocks())
-			scribbled(c.d.Blocks())
+			sample.ScribbleLists(p.d.Blocks())
+			sample.ScribbleLists(c.d.Blocks())
 			p.stands(t, "writing over what Blocks told")
 			c.stands(t, "writing over what Blocks told")
 			if !slices.Equal(asArrays(t, before), p.by.list) {

@@ -23,17 +23,10 @@ func numbered(from, many int) []byte {
 	return b
 }
 
-// scribble writes something else over bytes, the room behind them too.
-func scribble(b []byte) {
-	for i := range b[:cap(b)] {
-		b[:cap(b)][i] ^= 85
-	}
-}
-
 // scribbled writes something else over packets and their bytes, the room behind them too.
 func scribbled(l []api.Packet) {
 	for _, p := range l {
-		scribble(p.Bytes)
+		sample.Scribble(p.Bytes)
 	}
 	for i := range l[:cap(l)] {
 		l[:cap(l)][i] = pk(77, 78, 79)
@@ -100,11 +93,11 @@ func TestBytesHandedIn(t *testing.T) {
 		p.do(t, call{send, 0, 1, b})
 		p.do(t, call{kind: double})
 		c := p.copied()
-		scribble(whole)
+		sample.Scribble(whole)
 		p.stands(t, "writing over what was sent")
 		c.stands(t, "writing over what was sent ahead of Copy")
 		p.do(t, call{send, 1, 0, b})
-		scribble(whole)
+		sample.Scribble(whole)
 		p.do(t, call{kind: double, i: 2})
 		p.do(t, call{kind: deliver, i: 3})
 		p.do(t, call{kind: deliver})
@@ -130,7 +123,7 @@ func TestBytesAnswered(t *testing.T) {
 		for len(p.by.list) > 0 {
 			told, _ := p.n.Deliver(0)
 			p.by.done(call{kind: deliver})
-			scribble(told.Bytes)
+			sample.Scribble(told.Bytes)
 			p.stands(t, "writing over what Deliver told")
 			c.stands(t, "writing over what Deliver told")
 		}

@@ -30,6 +30,17 @@ func scribble[T any](l []T, other func(T) T) {
 	}
 }
 
+// Scribble writes another number over each of a list, the room behind its end too.
+func Scribble[T Item](l []T) { scribble(l, other[T]) }
+
+// ScribbleLists writes another number over each of some lists, and another list over each of these, the room behind their ends too.
+func ScribbleLists[T Item](lists [][]T) {
+	for _, l := range lists {
+		Scribble(l)
+	}
+	scribble(lists, func([]T) []T { return []T{77} })
+}
+
 func copies[T any](lists [][]T) [][]T {
 	l := make([][]T, len(lists))
 	for i := range lists {

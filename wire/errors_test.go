@@ -196,7 +196,7 @@ func TestSealFaulty(t *testing.T) {
 	for _, n := range []int{1<<20 + 1, 1<<20 + 2, 1 << 21} {
 		wantSeal(t, make([]byte, n), nil, api.ErrLimit)
 	}
-	wantSeal(t, numbered(3, 1<<20), sealBy(numbered(3, 1<<20)), api.OK)
+	wantSeal(t, sample.Bytes(3, 1<<20), sealBy(sample.Bytes(3, 1<<20)), api.OK)
 }
 
 func TestUnsealFaulty(t *testing.T) {
@@ -205,12 +205,12 @@ func TestUnsealFaulty(t *testing.T) {
 			wantRead(t, count[:n])
 		}
 		for _, n := range []int{1, 7, 8, 9, 10, 11, 12, 263, 264} {
-			wantRead(t, slices.Concat(count, numbered(n, n)))
+			wantRead(t, slices.Concat(count, sample.Bytes(n, n)))
 		}
 	}
 	// Limits of the count, with all the bytes that it speaks of, and a right sum.
 	for _, n := range []int{1<<20 - 1, 1 << 20, 1<<20 + 1} {
-		piece := sealBy(numbered(1, n))
+		piece := sealBy(sample.Bytes(1, n))
 		for _, b := range [][]byte{piece, append(slices.Clone(piece), 1, 2), piece[:len(piece)-1], piece[:len(piece)-8], piece[:len(piece)-9], piece[:4]} {
 			inner, size, e := unsealBy(b)
 			wantUnseal(t, b, inner, size, e)

@@ -60,7 +60,7 @@ func wantAgain(t *testing.T, b []byte) (read int) {
 func TestWhatIsReadIsWrittenAgain(t *testing.T) {
 	read := 0
 	for from := range 3000 {
-		b := numbered(from, 5+from%40)
+		b := sample.Bytes(from, 5+from%40)
 		// A beginning by which a list can be read of bytes that have no order.
 		short := slices.Concat([]byte{byte(from % 4), 0, 0, 0, byte(from % 5)}, b)
 		for i := 5; i < len(short); i += 4 {
@@ -104,7 +104,7 @@ func TestAPieceWithAnotherByte(t *testing.T) {
 	for _, b := range pieces()[:16] {
 		piece, _ := Seal(b)
 		for i := range piece {
-			for _, rest := range [][]byte{nil, {0}, numbered(9, 300)} {
+			for _, rest := range [][]byte{nil, {0}, sample.Bytes(9, 300)} {
 				wantTurned(t, b, piece, rest, i)
 			}
 		}
@@ -112,10 +112,10 @@ func TestAPieceWithAnotherByte(t *testing.T) {
 }
 
 func TestALongPieceWithAnotherByte(t *testing.T) {
-	b := numbered(6, 5000)
+	b := sample.Bytes(6, 5000)
 	piece, _ := Seal(b)
 	for _, i := range []int{0, 1, 2, 3, 4, 5, 100, 2500, 5002, 5003, 5004, 5011} {
-		wantTurned(t, b, piece, numbered(3, 70000), i)
+		wantTurned(t, b, piece, sample.Bytes(3, 70000), i)
 	}
 	most, _ := Seal(make([]byte, 1<<20))
 	for _, i := range []int{0, 1, 2, 3, 4, 1<<20 + 3, 1<<20 + 4, 1<<20 + 11} {

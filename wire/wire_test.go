@@ -55,25 +55,16 @@ func hexed(s string) []byte {
 	return b
 }
 
-// numbered are n bytes without any order, some others for each number from.
-func numbered(from, n int) []byte {
-	b := make([]byte, n)
-	for i, a := range sample.Scattered(api.Large, from+n)[from:] {
-		b[i] = byte(a >> 20)
-	}
-	return b
-}
-
 // behind are bytes that may stand behind a form.
 func behind() [][]byte {
-	return [][]byte{nil, {0}, {255}, {0, 0, 0, 0}, {1, 0, 0, 0, 0}, {128, 0, 0, 0}, slices.Repeat([]byte{255}, 9), sealBy(nil), numbered(4, 40)}
+	return [][]byte{nil, {0}, {255}, {0, 0, 0, 0}, {1, 0, 0, 0, 0}, {128, 0, 0, 0}, slices.Repeat([]byte{255}, 9), sealBy(nil), sample.Bytes(4, 40)}
 }
 
 // pieces are bytes to be sealed: none, one, few, such as are forms themselves, many.
 func pieces() [][]byte {
 	list := [][]byte{nil, {}, {0}, {255}, {0, 0, 0, 0}, {1, 2, 3}, []byte("ab"), sealBy(nil), sealBy([]byte{7}), listBy(api.Small, l(1, 2)), make([]byte, 100)}
 	for _, n := range []int{7, 8, 9, 255, 256, 257, 4096, 65535, 65536, 65537} {
-		list = append(list, numbered(n%5, n))
+		list = append(list, sample.Bytes(n%5, n))
 	}
 	return list
 }
@@ -151,7 +142,7 @@ func TestSum(t *testing.T) {
 		wantSum(t, []byte{byte(c)}, sumBy([]byte{byte(c)}))
 		wantSum(t, []byte{byte(c), 3}, sumBy([]byte{byte(c), 3}))
 	}
-	many := numbered(1, api.MaxBytes+5)
+	many := sample.Bytes(1, api.MaxBytes+5)
 	wantSum(t, many, sumBy(many))
 }
 
@@ -229,7 +220,7 @@ func TestListByHand(t *testing.T) {
 // P8.3
 
 func TestSeal(t *testing.T) {
-	for _, b := range append(pieces(), numbered(2, api.MaxBytes-1), make([]byte, api.MaxBytes)) {
+	for _, b := range append(pieces(), sample.Bytes(2, api.MaxBytes-1), make([]byte, api.MaxBytes)) {
 		piece := sealBy(b)
 		wantSeal(t, b, piece, api.OK)
 		for _, rest := range behind() {
