@@ -1,6 +1,7 @@
 package sample
 
 import (
+	"bytes"
 	"slices"
 
 	"conclave/api"
@@ -81,6 +82,15 @@ func ApartReplies(do func(lists [][]api.Reply) [][]api.Reply, lists ...[]api.Rep
 		return api.Reply{Worker: other(r.Worker), Values: append(slices.Clone(r.Values), 85)}
 	}
 	return apart(kind[api.Reply]{equal, longer}, do, lists)
+}
+
+// ApartPackets is Apart of lists of packets: of the lists, not of the Bytes in them.
+func ApartPackets(do func(lists [][]api.Packet) [][]api.Packet, lists ...[]api.Packet) string {
+	equal := func(a, b api.Packet) bool { return a.From == b.From && a.To == b.To && bytes.Equal(a.Bytes, b.Bytes) }
+	longer := func(p api.Packet) api.Packet {
+		return api.Packet{From: other(p.From), To: other(p.To), Bytes: append(slices.Clone(p.Bytes), 85)}
+	}
+	return apart(kind[api.Packet]{equal, longer}, do, lists)
 }
 
 func apart[T any](k kind[T], do func(lists [][]T) [][]T, lists [][]T) string {

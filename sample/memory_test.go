@@ -78,6 +78,30 @@ func TestApartRepliesFindsWhatIsAmiss(t *testing.T) {
 	}
 }
 
+func TestApartPacketsFindsWhatIsAmiss(t *testing.T) {
+	list := []api.Packet{{From: 1, Bytes: []byte{1, 2}}, {To: 2, Bytes: []byte{3}}, {From: 1}}
+	for what, do := range map[string]func(h [][]api.Packet) [][]api.Packet{
+		"changes where one is from": func(h [][]api.Packet) [][]api.Packet { h[0][1].From++; return nil },
+		"changes where one goes to": func(h [][]api.Packet) [][]api.Packet { h[0][2].To--; return nil },
+		"takes bytes away":          func(h [][]api.Packet) [][]api.Packet { h[0][0].Bytes = nil; return nil },
+		"puts packets in an order": func(h [][]api.Packet) [][]api.Packet {
+			slices.SortFunc(h[0], func(a, b api.Packet) int { return a.From - b.From })
+			return nil
+		},
+		"changes the room behind": func(h [][]api.Packet) [][]api.Packet { _ = append(h[0], api.Packet{}); return nil },
+		"answers an argument":     func(h [][]api.Packet) [][]api.Packet { return h },
+		"answers a piece of one":  func(h [][]api.Packet) [][]api.Packet { return [][]api.Packet{h[0][:1]} },
+	} {
+		if ApartPackets(do, list) == "" {
+			t.Errorf("a call that %s is not found", what)
+		}
+	}
+	fresh := func(h [][]api.Packet) [][]api.Packet { return copies(h) }
+	if wrong := ApartPackets(fresh, list, nil); wrong != "" {
+		t.Errorf("new memory: %s", wrong)
+	}
+}
+
 func TestApartProgsFindsWhatIsAmiss(t *testing.T) {
 	kept := Prog(1, 2, 3, 4)
 	for what, do := range map[string]func(h []api.Prog) []api.Prog{

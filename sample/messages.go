@@ -97,3 +97,44 @@ func NoMsgs() []api.Msg {
 	}
 	return all
 }
+
+// Variants are messages beside m, which may be as m may: each of another kind, round, worker, field or number of Values, or of several of these.
+func Variants(m api.Msg) []api.Msg {
+	var all []api.Msg
+	with := func(turn func(v *api.Msg)) {
+		v := m
+		v.Values = slices.Clone(m.Values)
+		turn(&v)
+		all = append(all, v)
+	}
+	kind, field := api.MShare+api.MReply-m.Kind, api.Small+api.Large-m.Field
+	round, worker := (m.Round+1)%api.MaxRounds, (m.Worker+1)%api.MaxNodes
+	// Elements of Small are ones of Large, too.
+	inBoth, inOther := Run(api.Small, 3, len(m.Values)), Run(field, 3, (len(m.Values)+1)%(api.MaxInputs+1))
+	with(func(v *api.Msg) { v.Kind = kind })
+	for _, n := range append(Below(api.MaxRounds), round, m.Round^1, m.Round^256) {
+		if n != m.Round {
+			with(func(v *api.Msg) { v.Round = n })
+		}
+	}
+	for n := range api.MaxNodes {
+		if n != m.Worker {
+			with(func(v *api.Msg) { v.Worker = n })
+		}
+	}
+	with(func(v *api.Msg) { v.Field, v.Values = field, inBoth })
+	for n := range api.MaxInputs + 1 {
+		if n != len(m.Values) {
+			with(func(v *api.Msg) { v.Values = Run(m.Field, 5, n) })
+		}
+	}
+	with(func(v *api.Msg) { v.Kind, v.Worker = kind, worker })
+	with(func(v *api.Msg) { v.Kind, v.Values = kind, nil })
+	with(func(v *api.Msg) { v.Worker, v.Field, v.Values = worker, field, inBoth })
+	with(func(v *api.Msg) { v.Field, v.Values = field, inOther })
+	with(func(v *api.Msg) { v.Round, v.Worker = round, worker })
+	with(func(v *api.Msg) { v.Kind, v.Worker, v.Field, v.Values = kind, worker, field, inOther })
+	every := api.Msg{Kind: kind, Round: round, Worker: worker, Field: field, Values: inOther}
+	with(func(v *api.Msg) { *v = every })
+	return all
+}

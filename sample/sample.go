@@ -1,4 +1,4 @@
-// Package sample holds the elements, lists, bytes, blocks, tapes, programs, plans, messages and choices of workers with which the layers' tests try their calls, and finds lists, replies and programs that share memory. No layer calls it, and it calls none, so that every layer's tests may lean on it.
+// Package sample holds the elements, lists, bytes, blocks, tapes, programs, plans, messages and choices of workers with which the layers' tests try their calls, and finds lists, replies, packets and programs that share memory. No layer calls it, and it calls none, so that every layer's tests may lean on it.
 package sample
 
 import (

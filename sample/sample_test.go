@@ -1,6 +1,7 @@
 package sample
 
 import (
+	"bytes"
 	"math"
 	"slices"
 	"testing"
@@ -101,4 +102,51 @@ func TestMsgs(t *testing.T) {
 	want("rounds of none", rounds, -1, math.MinInt, 65536, 1<<32, math.MaxInt)
 	want("workers of none", workers, -1, math.MinInt, 64, 1<<32, math.MaxInt)
 	want("numbers of values of none", many, 65, 4096, 4097)
+}
+
+// Which bytes are none of a message's leans on these: of the very bytes that they were made of they would be.
+func TestGarbled(t *testing.T) {
+	for _, b := range [][]byte{nil, {0}, {7}, make([]byte, 30), Bytes(2, 30)} {
+		before := slices.Clone(b)
+		all, lengths := Garbled(b), map[int]int{}
+		for _, c := range all {
+			lengths[len(c)]++
+			if bytes.Equal(b, c) {
+				t.Errorf("Garbled(%x) has it", b)
+			}
+			Scribble(c)
+		}
+		if !bytes.Equal(b, before) || len(Turned(b)) != 4*len(b) {
+			t.Errorf("%x is %x now; %d have one byte turned", before, b, len(Turned(b)))
+		}
+		for _, n := range []int{0, len(b) - 1, len(b), len(b) + 1} {
+			if n >= 0 && n+len(b) > 0 && lengths[n] == 0 {
+				t.Errorf("Garbled(%x) has none of %d bytes", b, n)
+			}
+		}
+	}
+}
+
+// What is another message leans on these: one and the same is none.
+func TestVariants(t *testing.T) {
+	for _, m := range Msgs() {
+		seen := map[string]int{}
+		for _, v := range Variants(m) {
+			same := map[string]bool{"kind": v.Kind == m.Kind, "round": v.Round == m.Round, "worker": v.Worker == m.Worker, "field": v.Field == m.Field, "values": len(v.Values) == len(m.Values)}
+			other := ""
+			for _, what := range []string{"kind", "round", "worker", "field", "values"} {
+				if !same[what] {
+					other += what + " "
+				}
+			}
+			seen[other]++
+			outside := slices.ContainsFunc(v.Values, func(a uint64) bool { return a >= Prime(v.Field) })
+			if outside || v.Round < 0 || v.Round > 65535 || v.Worker < 0 || v.Worker > 63 || len(v.Values) > 64 || !slices.Contains(Kinds(), v.Kind) {
+				t.Errorf("%v may not be", v)
+			}
+		}
+		if seen[""] > 0 || seen["kind "] == 0 || seen["round "] < 5 || seen["worker "] != 63 || seen["field "] == 0 || seen["values "] != 64 || seen["kind round worker field values "] == 0 {
+			t.Errorf("the variants of %v are unlike it in %v", m, seen)
+		}
+	}
 }

@@ -462,49 +462,9 @@ func TestNewOfEmptyDisks(t *testing.T) {
 	}
 }
 
-// variants are messages beside a share message for a worker, each of another kind, worker, field or number of Values, or of more than one of them.
-func (o post) variants(m api.Msg) []api.Msg {
-	var l []api.Msg
-	other := api.Small + api.Large - m.Field
-	worker := (m.Worker + 1) % 64
-	with := func(turn func(m *api.Msg)) {
-		v := m
-		v.Values = slices.Clone(m.Values)
-		turn(&v)
-		l = append(l, v)
-	}
-	with(func(v *api.Msg) { v.Kind = 2 })
-	for n := range 64 {
-		if n != m.Worker {
-			with(func(v *api.Msg) { v.Worker = n })
-		}
-	}
-	inOther := sample.Run(api.Small, 3, o.p.Width)
-	with(func(v *api.Msg) { v.Field, v.Values = other, inOther })
-	for n := range 65 {
-		if n != o.p.Width {
-			with(func(v *api.Msg) { v.Values = sample.Run(m.Field, 5, n) })
-		}
-	}
-	with(func(v *api.Msg) { v.Kind, v.Worker = 2, worker })
-	with(func(v *api.Msg) { v.Kind, v.Values = 2, nil })
-	with(func(v *api.Msg) { v.Worker, v.Field, v.Values = worker, other, inOther })
-	with(func(v *api.Msg) { v.Field, v.Values = other, nil })
-	with(func(v *api.Msg) { v.Kind, v.Worker, v.Field, v.Values = 2, worker, other, inOther[1:] })
-	return l
-}
-
-// turned are bytes with one of them turned, at each place.
-func turned(b []byte) [][]byte {
-	var l [][]byte
-	for at := range b {
-		for _, turn := range []byte{1, 3, 128, 255} {
-			c := slices.Clone(b)
-			c[at] ^= turn
-			l = append(l, c)
-		}
-	}
-	return l
+// variants are messages beside a share message for a worker, of the same round, each of another kind, worker, field or number of Values, or of more than one of them.
+func variants(m api.Msg) []api.Msg {
+	return slices.DeleteFunc(sample.Variants(m), func(v api.Msg) bool { return v.Round != m.Round })
 }
 
 // sealed is a message's inside with other bytes from one place on, sealed anew.
@@ -528,13 +488,7 @@ func garbled(t *testing.T, m api.Msg) [][]byte {
 	last := len(inside)
 	width := (last - 14) / len(m.Values)
 	twice, _ := wire.Seal(b)
-	l := append(turned(b), nil, []byte{}, []byte{0}, []byte{1}, inside, twice, slices.Concat(b, b), b[1:], append([]byte{0}, b...), make([]byte, len(b)))
-	for _, more := range [][]byte{{0}, {1}, {255}, make([]byte, size), inside} {
-		l = append(l, append(slices.Clone(b), more...))
-	}
-	for cut := range b {
-		l = append(l, b[:cut])
-	}
+	l := append(sample.Garbled(b), inside, twice, slices.Concat(b, inside))
 	longer, _ := wire.Seal(append(slices.Clone(inside), 0))
 	return append(l, longer,
 		sealed(t, inside[:last-1], 0), sealed(t, inside, 0, 0), sealed(t, inside, 0, 3), sealed(t, inside, 1, 0, 1, 0, 0), sealed(t, inside, 1, 255, 255, 255, 255),
@@ -545,7 +499,7 @@ func garbled(t *testing.T, m api.Msg) [][]byte {
 func (o post) notFor(t *testing.T, m api.Msg) [][]byte {
 	t.Helper()
 	l := garbled(t, m)
-	for _, v := range o.variants(m) {
+	for _, v := range variants(m) {
 		l = append(l, written(t, v))
 	}
 	return l
